@@ -1,0 +1,1 @@
+"""Stillroom: a cleaner of documents."""

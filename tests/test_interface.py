@@ -1,0 +1,30 @@
+"""Names, arguments and places of everything that the interface lists."""
+
+import importlib
+import inspect
+import unittest
+
+FUNCTIONS = {
+    "measure": ["budget(count)", "spend(left, cost)"],
+    "sums": ["check_sum(data)", "digest(data)"],
+    "digits": [
+        "to_hex(data)", "from_hex(data, left)", "to_base64(data)", "from_base64(data, left)",
+        "write_word(data)", "read_word(text)", "write_number(number)", "read_number(text)",
+    ],
+    "runs": ["to_runs(data)", "from_runs(data, left)"],
+}
+
+
+class Interface(unittest.TestCase):
+    def test_functions(self):
+        for module, listed in FUNCTIONS.items():
+            found = importlib.import_module("stillroom." + module)
+            for line in listed:
+                function = getattr(found, line.split("(")[0])
+                self.assertTrue(inspect.isfunction(function), line)
+                self.assertEqual(function.__module__, "stillroom." + module)
+                self.assertEqual(function.__name__ + str(inspect.signature(function)), line)
+
+
+if __name__ == "__main__":
+    unittest.main()
