@@ -12,6 +12,15 @@ FUNCTIONS = {
         "write_word(data)", "read_word(text)", "write_number(number)", "read_number(text)",
     ],
     "runs": ["to_runs(data)", "from_runs(data, left)"],
+    "window": ["squeeze(data)", "unsqueeze(data, left)"],
+    "rows": ["predict(data, width)", "unpredict(data, width, left)"],
+    "signs": ["possible_kinds(data)", "kind_of(data)", "plain_name(data)"],
+    "crates": ["open_crate(data, left)", "read_content(entry, left)", "write_crate(entries)"],
+    "values": [
+        "depth(value)", "is_value(value)", "is_book(book)", "find(book, number)", "get(value, key)",
+        "follow(book, value, left)", "reach(book)",
+    ],
+    "reading": ["read_book(data, left)"],
 }
 
 

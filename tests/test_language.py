@@ -21,7 +21,9 @@ NEVER_NAMES = """register mro elements open input law version_info with_tracebac
 builtins compile copyright credits delattr dir eval exec exit gc globals help id importlib license locals methodcaller
 os quit super type vars sys _cold _tuplegetter _outside _record _written_out _member_names""".split()
 
-NEVER_BEGINNINGS = ("_wall", "_pe_", "_dcw_", "_enum_", "_cm_", "_twin_re_", "_lay_", "_law_", "_stub_", "_sre", "_WallAttr")
+NEVER_BEGINNINGS = (
+    "_wall", "_pe_", "_dcw_", "_enum_", "_cm_", "_twin_re_", "_lay_", "_law_", "_stub_", "_sre", "_WallAttr",
+)
 
 NEVER_WORDS = """type typing typing_extensions enum Enum IntEnum StrEnum Flag IntFlag Generic Protocol ABC ABCMeta
 namedtuple NamedTuple TypedDict TYPE_CHECKING abstractmethod""".split()
@@ -46,7 +48,8 @@ def functions(tree):
 def bound_names(function):
     """Parameters, and all names that are assigned."""
     named = [argument.arg for argument in ast.walk(function.args) if isinstance(argument, ast.arg)]
-    return named + [node.id for node in ast.walk(function) if isinstance(node, ast.Name) and isinstance(node.ctx, ast.Store)]
+    names = [node for node in ast.walk(function) if isinstance(node, ast.Name)]
+    return named + [node.id for node in names if isinstance(node.ctx, ast.Store)]
 
 
 def module_names(tree):
@@ -62,7 +65,8 @@ def module_names(tree):
 
 
 def imports(tree):
-    return {node.module.split(".")[1]: [alias.name for alias in node.names] for node in tree.body if isinstance(node, ast.ImportFrom)}
+    found = [node for node in tree.body if isinstance(node, ast.ImportFrom)]
+    return {node.module.split(".")[1]: [alias.name for alias in node.names] for node in found}
 
 
 class Language(unittest.TestCase):
@@ -158,8 +162,8 @@ class Language(unittest.TestCase):
                 for word in bound_names(function):
                     self.check_name(word, name)
                     self.assertNotIn(word, outer, (name, function.name))
-                called = [node.func.id for node in ast.walk(function) if isinstance(node, ast.Call) and isinstance(node.func, ast.Name)]
-                for word in called:
+                called = [node.func for node in ast.walk(function) if isinstance(node, ast.Call)]
+                for word in [node.id for node in called if isinstance(node, ast.Name)]:
                     self.assertIn(word, own + bound_names(function) + BUILTINS, (name, function.name))
 
     def check_name(self, word, where):
@@ -201,7 +205,7 @@ class Language(unittest.TestCase):
                 over = {node.id for node in ast.walk(loop.iter) if isinstance(node, ast.Name)}
                 for node in [inner for row in loop.body for inner in ast.walk(row)]:
                     if isinstance(node, ast.Attribute) and isinstance(node.value, ast.Name):
-                        changes = node.attr in ("append", "extend", "insert", "pop", "remove", "clear", "reverse", "sort")
+                        changes = node.attr in "append extend insert pop remove clear reverse sort update".split()
                         self.assertFalse(changes and node.value.id in over, (name, loop.lineno))
                     if isinstance(node, ast.Subscript) and isinstance(node.ctx, ast.Store):
                         self.assertNotIn(getattr(node.value, "id", ""), over, (name, loop.lineno))
