@@ -5,15 +5,15 @@ from stillroom.fields import read_low_first, stands
 
 KINDS = ("still", "picture", "film", "sheet", "folio", "crate")
 
-# The signs of the first four kinds: "still 1" and a newline, "IMG" between 137,
-# 13 and 10, "FRM1" and a newline, "sheet 1" and a newline.
-_FIRST_SIGNS = {
-    "still": (115, 116, 105, 108, 108, 32, 49, 10),
-    "picture": (137, 73, 77, 71, 13, 10),
-    "film": (70, 82, 77, 49, 10),
-    "sheet": (115, 104, 101, 101, 116, 32, 49, 10),
-}
-_FOLIO_SIGN = (37, 70, 79, 76)
+# "still 1" and a newline, "IMG" between 137, 13 and 10, "FRM1" and a newline,
+# "sheet 1" and a newline.
+_STILL_SIGN = (115, 116, 105, 108, 108, 32, 49, 10)
+PICTURE_SIGN = (137, 73, 77, 71, 13, 10)
+FILM_SIGN = (70, 82, 77, 49, 10)
+_SHEET_SIGN = (115, 104, 101, 101, 116, 32, 49, 10)
+
+# The percent sign and "FOL".
+FOLIO_SIGN = (37, 70, 79, 76)
 _LAST_SIGN_PLACE = 1023
 
 # "CRT1" and "CEND".
@@ -29,8 +29,9 @@ _PERCENT_SIGN = 37
 
 def possible_kinds(data):
     """The list of the kinds that are possible, in the order of KINDS."""
-    found = [kind for kind in _FIRST_SIGNS if stands(data, 0, _FIRST_SIGNS[kind])]
-    if _sign_place(data, _FOLIO_SIGN) >= 0:
+    signs = (_STILL_SIGN, PICTURE_SIGN, FILM_SIGN, _SHEET_SIGN)
+    found = [kind for kind, sign in zip(KINDS, signs) if stands(data, 0, sign)]
+    if _sign_place(data, FOLIO_SIGN) >= 0:
         found.append("folio")
     if _sign_place(data, HEAD_SIGN) >= 0 or find_end(data) >= 0:
         found.append("crate")
@@ -40,7 +41,7 @@ def possible_kinds(data):
 def kind_of(data):
     """The kind, or the empty string."""
     kinds = possible_kinds(data)
-    if kinds == ["folio", "crate"] and 0 <= _sign_place(data, HEAD_SIGN) < _sign_place(data, _FOLIO_SIGN):
+    if kinds == ["folio", "crate"] and 0 <= _sign_place(data, HEAD_SIGN) < _sign_place(data, FOLIO_SIGN):
         return "crate"
     return kinds[0] if kinds else ""
 

@@ -8,7 +8,7 @@ GREATEST_DEPTH = 16
 GREATEST_INTEGER = 2147483647
 GREATEST_NUMBER = 9999
 _MOST_BYTES = 999999999
-_MOST_STEPS = 64
+MOST_STEPS = 64
 
 
 def depth(value):
@@ -130,9 +130,13 @@ def find(book, number):
 
 def get(value, key):
     """The value of a key, a string, of a dict or a stream, or None."""
+    return get_named(value, tuple(codes(key)))
+
+
+def get_named(value, wanted):
+    """The value of a key, a tuple of bytes, of a dict or a stream, or None."""
     if value is None or value[0] not in ("dict", "stream"):
         return None
-    wanted = tuple(codes(key))
     for name, part in value[1]:
         if name == wanted:
             return part
@@ -141,7 +145,7 @@ def get(value, key):
 
 def follow(book, value, left):
     """The tuple (value or None, left), behind at most 64 references."""
-    for _ in range(_MOST_STEPS):
+    for _ in range(MOST_STEPS):
         if not _is_reference(value):
             return value, left
         left, enough = spend(left, 1)

@@ -21,6 +21,11 @@ FUNCTIONS = {
         "follow(book, value, left)", "reach(book)",
     ],
     "reading": ["read_book(data, left)"],
+    "writing": ["write_book(book)", "write_value(value)"],
+    "streams": ["read_stream(book, value, left)"],
+    "runes": ["runes(data)", "rune_bytes(rune)"],
+    "outlines": ["scale(outlines, n, m)", "move(outlines, dx, dy)"],
+    "grid": ["is_grid(value)", "new_grid(width, height, colour)", "in_box(x, y, box)"],
 }
 
 

@@ -2,43 +2,8 @@ import unittest
 
 from stillroom.reading import read_book
 from stillroom.values import is_book
+from folios import NONE, SIGNS, WHITE, dict_of, items, name, number, stream, text
 from support import check_copies, drawn, drawn_bytes
-
-NONE = ("none",)
-WHITE = (0, 9, 10, 12, 13, 32)
-SIGNS = tuple(b"()<>[]{}/%#@")
-
-
-def key(text):
-    return tuple(text)
-
-
-def text(data):
-    return "text", tuple(data)
-
-
-def name(data):
-    return "name", tuple(data)
-
-
-def number(found):
-    return "int", found
-
-
-def items(*found):
-    return "list", found
-
-
-def pairs(*found):
-    return tuple((key(word), value) for word, value in found)
-
-
-def dict_of(*found):
-    return "dict", pairs(*found)
-
-
-def stream(data, *found):
-    return "stream", pairs(*found), tuple(data)
 
 
 def book(data):
@@ -539,91 +504,6 @@ class DrawnBytes(Reading):
         for size in range(len(data) + 1):
             self.check_book(list(data[:size]))
             self.check_book(list(data[size:]))
-
-
-def written_name(data):
-    signs = b""
-    for byte in data:
-        plain = 33 <= byte <= 126 and byte != 126 and byte not in SIGNS
-        signs += bytes([byte]) if plain else b"~%02x" % byte
-    return b"/" + signs
-
-
-def written_text(data):
-    signs = b""
-    for byte in data:
-        if byte in b"()\\":
-            signs += b"\\" + bytes([byte])
-        else:
-            signs += bytes([byte]) if 32 <= byte <= 126 else b"\\%02x" % byte
-    return b"(" + signs + b")"
-
-
-def written_dict(found):
-    return b"<<" + b" ".join(written_name(word) + b" " + written(value) for word, value in found) + b">>"
-
-
-def written(value):
-    """A value in the form of point 69."""
-    kind = value[0]
-    if kind == "none":
-        return b"none"
-    if kind == "bool":
-        return b"true" if value[1] else b"false"
-    if kind == "int":
-        return b"%d" % value[1]
-    if kind == "ref":
-        return b"@%d" % value[1]
-    if kind == "name":
-        return written_name(value[1])
-    if kind == "text":
-        return written_text(value[1])
-    if kind == "list":
-        return b"[" + b" ".join(written(item) for item in value[1]) + b"]"
-    if kind == "dict":
-        return written_dict(value[1])
-    return written_dict(value[1]) + b"{%d}" % len(value[2]) + bytes(value[2]) + b"{}"
-
-
-def drawn_value(source, room):
-    kind = source.choice(("none", "bool", "int", "name", "text", "ref", "list", "dict", "stream")[:9 if room else 6])
-    data = tuple(drawn_bytes(source, 6))
-    plain = {
-        "none": ("none",), "bool": ("bool", source.randint(0, 1)), "name": ("name", data), "text": ("text", data),
-        "int": ("int", source.randint(-2147483647, 2147483647)), "ref": ("ref", source.randint(1, 9999)),
-    }
-    if kind in plain:
-        return plain[kind]
-    values = tuple(drawn_value(source, room - 1) for _ in range(source.randint(0, 3)))
-    if kind == "list":
-        return "list", values
-    keys = sorted({tuple(drawn_bytes(source, 3)) for _ in values})
-    if kind == "dict":
-        return "dict", tuple(zip(keys, values))
-    return "stream", tuple(zip(keys, values)), data + source.choice(((), tuple(b"{}"), tuple(b"#1 5")))
-
-
-class WrittenBooks(Reading):
-    """Reading what was written returns the same book (point 69)."""
-
-    def check_written(self, found):
-        data = b"%FOL\n" + b"".join(b"#%d\n" % at + written(value) + b"\n" for at, value in found[0])
-        data += b"root @%d\n" % found[1] if found[1] else b""
-        self.assertEqual(book(data), found)
-
-    def test_drawn_books(self):
-        source = drawn(21)
-        for _ in range(400):
-            numbers = sorted({source.choice((1, 2, 9, 9999, source.randint(1, 9999))) for _ in range(3)})
-            objects = tuple((at, drawn_value(source, 4)) for at in numbers)
-            root = source.choice(numbers + [0])
-            self.assertTrue(is_book((objects, root)))
-            self.check_written((objects, root))
-
-    def test_every_byte(self):
-        every = tuple(range(256))
-        value = ("stream", ((every, ("name", every)), ((65,), ("text", every))), every)
-        self.check_written((((5, value),), 5))
 
 
 if __name__ == "__main__":

@@ -1,9 +1,9 @@
 import unittest
 
 from stillroom.values import depth, find, follow, get, is_book, is_value, reach
+from folios import NONE, chained, nested
 from support import check_copies, drawn
 
-NONE = ("none",)
 LEAVES = [
     NONE, ("bool", 0), ("bool", 1), ("int", 0), ("int", 2147483647), ("int", -2147483647),
     ("name", ()), ("name", (0, 37, 255)), ("text", ()), ("text", (40, 41)), ("ref", 1), ("ref", 9999),
@@ -12,16 +12,6 @@ LEAVES = [
 
 def key(text):
     return tuple(text.encode("ascii"))
-
-
-def nested(kind, levels, inner=None):
-    """A value of this depth; the innermost list, dict or stream has the inner value, if any."""
-    value = inner
-    for _ in range(levels):
-        items = () if value is None else (value,)
-        pairs = tuple((key("A"), item) for item in items)
-        value = {"list": ("list", items), "dict": ("dict", pairs), "stream": ("stream", pairs, ())}[kind]
-    return value
 
 
 def dict_of(**pairs):
@@ -246,9 +236,7 @@ class FindAndGet(unittest.TestCase):
 
 
 def chain(many):
-    """A book of so many references, each to the next object, and an integer behind them."""
-    objects = [(number, ("ref", number + 1)) for number in range(1, many + 1)]
-    return tuple(objects + [(many + 1, ("int", 7))]), 0
+    return chained(many), 0
 
 
 class Follow(unittest.TestCase):
