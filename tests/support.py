@@ -13,6 +13,24 @@ def drawn_bytes(source, longest, highest=255):
     return [source.randint(0, highest) for _ in range(source.randint(0, longest))]
 
 
+def changed(source, data, begin=0, choices=range(256)):
+    """The bytes with some of them, from a place on, changed, left out or put in."""
+    data = list(data)
+    for _ in range(source.randint(1, 4)):
+        at = source.randint(begin, len(data))
+        data[at:at + source.randint(0, 2)] = [source.choice(choices)] * source.randint(0, 1)
+    return data
+
+
+def low(number, count):
+    """The bytes of a number, the lowest one first."""
+    return list(number.to_bytes(count, "little"))
+
+
+def colour_bytes(*colours):
+    return [part for colour in colours for part in colour.to_bytes(3, "big")]
+
+
 def spoil(value):
     """Changes a list that was returned, and all lists in it."""
     if isinstance(value, (list, tuple)):

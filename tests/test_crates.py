@@ -7,13 +7,9 @@ from stillroom.runs import to_runs
 from stillroom.signs import plain_name
 from stillroom.sums import check_sum
 from stillroom.window import squeeze
-from support import check_copies, drawn, drawn_bytes
+from support import check_copies, drawn, drawn_bytes, low
 
 PLENTY = 10 ** 9
-
-
-def low(number, count):
-    return list(number.to_bytes(count, "little"))
 
 
 def head(name, data, method=0, size=0, total=0, said=None, name_said=None):

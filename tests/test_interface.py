@@ -25,7 +25,21 @@ FUNCTIONS = {
     "streams": ["read_stream(book, value, left)"],
     "runes": ["runes(data)", "rune_bytes(rune)"],
     "outlines": ["scale(outlines, n, m)", "move(outlines, dx, dy)"],
+    "fonts": [
+        "is_font(value)", "read_font(data, left)", "write_font(font)", "plain_font()", "lookup(font, rune)",
+        "advance(font, glyph)", "outline(font, glyph, left)",
+    ],
     "grid": ["is_grid(value)", "new_grid(width, height, colour)", "in_box(x, y, box)"],
+    "filling": [
+        "fill(grid, clip, outlines, colour)", "place(grid, clip, picture, box)", "curve(first, control, last)",
+        "paint(page, left)",
+    ],
+    "pictures": ["read_picture(data, left)", "write_picture(grid)"],
+    "films": [
+        "is_film(value)", "read_film(data, left)", "write_film(film)", "compose(film, left)", "film_pages(data, left)",
+    ],
+    "styles": ["style_of(book, name)", "number_of(value, low, high, other)", "colour_of(value, other)"],
+    "flow": ["break_lines(advances, space, width)"],
 }
 
 

@@ -44,7 +44,8 @@ class Reading(unittest.TestCase):
 
     def test_too_many_bytes(self):
         for number, count in (
-            (0, 2), (127, 2), (0, 3), (127, 3), (128, 3), (2047, 3), (0, 4), (128, 4), (2048, 4), (55295, 4), (65535, 4),
+            (0, 2), (127, 2), (0, 3), (127, 3), (128, 3), (2047, 3),
+            (0, 4), (128, 4), (2048, 4), (55295, 4), (65535, 4),
         ):
             self.check(sequence(number, count), *[BAD] * count)
             self.check(sequence(number, count) + [65], *[BAD] * count, 65)

@@ -7,7 +7,7 @@ from stillroom.writing import write_book, write_value
 from folios import (
     NONE, SIGNS, WHITE, dict_of, drawn_book, drawn_value, items, name, nested, number, pairs, stream, text, written,
 )
-from support import check_copies, drawn
+from support import changed, check_copies, drawn
 
 EVERY_BYTE = tuple(range(256))
 REGULAR = tuple(set(range(256)) - set(WHITE + SIGNS))
@@ -182,12 +182,9 @@ class Books(unittest.TestCase):
 
     def test_written_books_that_were_changed(self):
         source = drawn(32)
+        choices = EVERY_BYTE + SIGNS * 20
         for _ in range(1500):
-            data = write_book(drawn_book(source))
-            for _ in range(source.randint(1, 4)):
-                at = source.randint(0, len(data))
-                changed = [source.choice((source.randint(0, 255), source.choice(SIGNS)))]
-                data[at:at + source.randint(0, 2)] = changed * source.randint(0, 1)
+            data = changed(source, write_book(drawn_book(source)), choices=choices)
             found, left = read_book(data, len(data))
             self.assertEqual(left, 0)
             if found is not None:
