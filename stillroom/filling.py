@@ -110,6 +110,12 @@ def paint(page, left):
     return grid, left
 
 
+def painting_cost(page):
+    """What painting the whole page costs."""
+    width, height, _, marks, _ = page
+    return width * height + sum([_cost(mark, height) for mark in marks])
+
+
 def _cost(mark, height):
     if mark[0] == "fill":
         return 1 + height * sum([len(points) for points in mark[2]])

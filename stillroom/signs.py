@@ -7,10 +7,10 @@ KINDS = ("still", "picture", "film", "sheet", "folio", "crate")
 
 # "still 1" and a newline, "IMG" between 137, 13 and 10, "FRM1" and a newline,
 # "sheet 1" and a newline.
-_STILL_SIGN = (115, 116, 105, 108, 108, 32, 49, 10)
+STILL_SIGN = (115, 116, 105, 108, 108, 32, 49, 10)
 PICTURE_SIGN = (137, 73, 77, 71, 13, 10)
 FILM_SIGN = (70, 82, 77, 49, 10)
-_SHEET_SIGN = (115, 104, 101, 101, 116, 32, 49, 10)
+SHEET_SIGN = (115, 104, 101, 101, 116, 32, 49, 10)
 
 # The percent sign and "FOL".
 FOLIO_SIGN = (37, 70, 79, 76)
@@ -29,7 +29,7 @@ _PERCENT_SIGN = 37
 
 def possible_kinds(data):
     """The list of the kinds that are possible, in the order of KINDS."""
-    signs = (_STILL_SIGN, PICTURE_SIGN, FILM_SIGN, _SHEET_SIGN)
+    signs = (STILL_SIGN, PICTURE_SIGN, FILM_SIGN, SHEET_SIGN)
     found = [kind for kind, sign in zip(KINDS, signs) if stands(data, 0, sign)]
     if _sign_place(data, FOLIO_SIGN) >= 0:
         found.append("folio")

@@ -1,7 +1,7 @@
 """Reading the streams of folios (point 71)."""
 
-from stillroom.characters import codes
 from stillroom.digits import from_base64, from_hex
+from stillroom.looking import word_of
 from stillroom.rows import unpredict
 from stillroom.runs import from_runs
 from stillroom.values import follow, get
@@ -38,18 +38,10 @@ def _filters_of(book, stream, left):
         for item in held[1]:
             followed, left = follow(book, item, left)
             items.append(followed)
-    names = [_filter_name(item) for item in items]
+    names = [word_of(item, _FILTERS) for item in items]
     if "" in names:
         return None, left
     return names, left
-
-
-def _filter_name(value):
-    """The name of a filter, or the empty string if the value, maybe None, is no filter."""
-    for name in _FILTERS:
-        if value == ("name", tuple(codes(name))):
-            return name
-    return ""
 
 
 def _filtered(book, stream, name, data, left):

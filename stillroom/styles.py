@@ -2,7 +2,7 @@
 
 from stillroom.characters import codes
 from stillroom.colours import is_colour
-from stillroom.looking import key_of, root_of
+from stillroom.looking import key_of, root_of, word_of
 
 _MOST_DICTS = 8
 _ALIGNS = ("Left", "Middle", "Right")
@@ -79,7 +79,5 @@ def _color_of(value):
 
 
 def _align_of(value):
-    for align in _ALIGNS:
-        if value == ("name", tuple(codes(align))):
-            return align
-    return None
+    word = word_of(value, _ALIGNS)
+    return word if word else None

@@ -40,6 +40,11 @@ FUNCTIONS = {
     ],
     "styles": ["style_of(book, name)", "number_of(value, low, high, other)", "colour_of(value, other)"],
     "flow": ["break_lines(advances, space, width)"],
+    "pages": ["lay_out(book, left)"],
+    "cells": ["place_name(place)", "read_place(text)", "read_sheet(data, left)", "write_sheet(sheet)"],
+    "formulas": ["read_formula(data)", "write_formula(tree)", "used_places(tree)", "count_trees(tree)"],
+    "cellvalues": ["content_value(content)", "tree_value(tree, values)", "sheet_values(sheet, left)"],
+    "sheets": ["words_of(value)", "sheet_pages(sheet, left)", "sheet_acts(sheet, left)"],
 }
 
 

@@ -33,8 +33,8 @@ BARRED = (
     ast.MatMult, ast.Import, ast.AnnAssign, ast.GeneratorExp, ast.Yield, ast.YieldFrom, ast.NamedExpr, ast.Try,
     ast.With, ast.Match, ast.Delete, ast.Nonlocal, ast.Set, ast.IfExp,
 )
-# The package does not need these, though the language has them in narrow forms.
-ALLOWED_NOW = (ast.IfExp,)
+# The package does not need the others, though the language has them in narrow forms.
+ALLOWED_NOW = (ast.IfExp, ast.Try)
 
 FILES = sorted(PACKAGE.rglob("*"))
 SOURCES = {path.stem: path.read_text() for path in FILES if path.suffix == ".py"}
@@ -67,6 +67,17 @@ def module_names(tree):
 def imports(tree):
     found = [node for node in tree.body if isinstance(node, ast.ImportFrom)]
     return {node.module.split(".")[1]: [alias.name for alias in node.names] for node in found}
+
+
+def own_methods():
+    """The names of methods and attributes that the classes of the package define."""
+    found = set()
+    for tree in TREES.values():
+        for node in [inner for inner in ast.walk(tree) if isinstance(inner, ast.ClassDef)]:
+            found |= {function.name for function in functions(node)}
+            targets = [inner for inner in ast.walk(node) if isinstance(inner, ast.Attribute)]
+            found |= {inner.attr for inner in targets if isinstance(inner.ctx, ast.Store) and inner.value.id == "self"}
+    return found
 
 
 class Language(unittest.TestCase):
@@ -173,10 +184,38 @@ class Language(unittest.TestCase):
         self.assertFalse(hasattr(builtins, word), (where, word))
 
     def test_methods(self):
+        own = own_methods()
         for name, tree in TREES.items():
             for node in ast.walk(tree):
                 if isinstance(node, ast.Attribute):
-                    self.assertIn(node.attr, METHODS, name)
+                    self.assertIn(node.attr, METHODS + sorted(own), name)
+
+    def test_own_methods(self):
+        for word in own_methods() - {"__init__"}:
+            self.assertRegex(word, "^_?[a-z][a-z0-9_]*$")
+            self.assertFalse(word.startswith(NEVER_BEGINNINGS), word)
+            for value in ("", 0, [], {}, set(), b""):
+                self.assertFalse(hasattr(value, word), word)
+            self.assertNotIn(word, NEVER_NAMES)
+            self.assertNotIn(word, BUILTINS)
+
+    def test_handlers(self):
+        errors = {"StillroomError"}
+        for _ in range(3):
+            for tree in TREES.values():
+                for node in [inner for inner in tree.body if isinstance(inner, ast.ClassDef)]:
+                    if errors & {base.id for base in node.bases}:
+                        errors.add(node.name)
+        for name, tree in TREES.items():
+            for node in ast.walk(tree):
+                if isinstance(node, ast.Try):
+                    self.assertEqual(node.finalbody, [], name)
+                if isinstance(node, ast.ExceptHandler):
+                    self.assertIsInstance(node.type, ast.Name, name)
+                    self.assertIn(node.type.id, errors, name)
+                if isinstance(node, ast.Raise):
+                    self.assertIsInstance(node.exc, ast.Call, name)
+                    self.assertIn(node.exc.func.id, errors, name)
 
     def test_strings(self):
         for name, tree in TREES.items():
