@@ -45,6 +45,15 @@ FUNCTIONS = {
     "formulas": ["read_formula(data)", "write_formula(tree)", "used_places(tree)", "count_trees(tree)"],
     "cellvalues": ["content_value(content)", "tree_value(tree, values)", "sheet_values(sheet, left)"],
     "sheets": ["words_of(value)", "sheet_pages(sheet, left)", "sheet_acts(sheet, left)"],
+    "stills": ["write_still(pages)", "read_still(data)"],
+    "showing": ["look_at(data, left, level)", "show(data)", "acts(data)", "depth(data)", "alike(first, second)"],
+    "cleaning": ["clean(data)"],
+    "facts": ["facts_of(name, data)", "is_sound(value)"],
+    "policies": [
+        "is_policy(value)", "holds(term, facts)", "matches(pattern, name)", "judge(policy, facts)",
+        "write_policy(policy)", "read_policy(text)",
+    ],
+    "deciding": ["example(policy, index)", "shadowed(policy)", "difference(first, second)"],
 }
 
 
