@@ -4,7 +4,7 @@ from stillroom.characters import codes
 from stillroom.formulas import all_trees, count_trees, range_places, read_formula, used_places
 from stillroom.measure import spend
 from stillroom.operations import NO_VALUE, call_value, number_in, pair_value
-from stillroom.scanning import is_digit
+from stillroom.scanning import is_digit, number_of_digits
 
 _EQUALS_SIGN = 61
 _MINUS = 45
@@ -31,9 +31,7 @@ def _number_of_content(content):
     digits = content[1:] if content[0] == _MINUS else content
     if not 1 <= len(digits) <= _MOST_DIGITS or not all([is_digit(byte) for byte in digits]):
         return None
-    number = 0
-    for byte in digits:
-        number = number * 10 + byte - 48
+    number = number_of_digits(digits)
     if content[0] == _MINUS:
         number = -number
     # Leading zeros, and a zero with a sign, are not what is written.

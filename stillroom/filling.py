@@ -14,10 +14,14 @@ def fill(grid, clip, outlines, colour):
     edges = _edges(outlines)
     painted = list(cells)
     for row in _within(clip[1], clip[3], height):
-        inside = _inside_row(edges, middle(row), width)
-        for column in columns:
-            if inside[column]:
-                painted[row * width + column] = colour
+        y = middle(row)
+        crossed = [edge for edge in edges if edge[1] <= y < edge[3]]
+        # Most marks are small: most rows cross none of their edges.
+        if crossed:
+            inside = _inside_row(crossed, y, width)
+            for column in columns:
+                if inside[column]:
+                    painted[row * width + column] = colour
     return width, height, painted
 
 
@@ -40,12 +44,11 @@ def _edges(outlines):
     return edges
 
 
-def _inside_row(edges, y, width):
-    """For each column, whether its middle at the height y is inside."""
+def _inside_row(crossed, y, width):
+    """For each column, whether its middle at the height y, which these edges cross, is inside."""
     begins = [0] * (width + 1)
-    for edge in edges:
-        if edge[1] <= y < edge[3]:
-            begins[_first_column(edge, y, width)] += 1
+    for edge in crossed:
+        begins[_first_column(edge, y, width)] += 1
     inside = []
     count = 0
     for begin in begins[:width]:

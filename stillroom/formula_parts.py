@@ -2,7 +2,7 @@
 
 from stillroom.cells import place_of
 from stillroom.characters import codes
-from stillroom.scanning import is_digit
+from stillroom.scanning import is_digit, number_of_digits
 
 WORDS = ("SUM", "MIN", "MAX", "COUNT", "IF", "JOIN", "LINK", "FETCH")
 # The longer ones stand before those with which they begin.
@@ -53,10 +53,7 @@ def _is_letter_or_digit(byte):
 def _part_of_row(row):
     """The part that a longest row of letters and digits is, or None."""
     if len(row) <= _MOST_DIGITS and all([is_digit(byte) for byte in row]):
-        number = 0
-        for byte in row:
-            number = number * 10 + byte - 48
-        return "number", number
+        return "number", number_of_digits(row)
     for word in WORDS:
         if row == codes(word):
             return "word", word

@@ -33,6 +33,10 @@ class Layout:
     def add_act(self, kind, data):
         self.acts.append((kind, data))
 
+    def page_acts(self):
+        """The acts of the page that was begun last."""
+        return tuple(self.acts)
+
     def cost(self, count):
         """Spends so much. Raises WorkEnded if it is too much."""
         left, enough = spend(self.left, count)

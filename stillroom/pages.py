@@ -38,7 +38,7 @@ def _put_page(layout, page, is_first):
             layout.add_act("file", _act_data(layout, value))
     _add_open(layout, page)
     marks, _ = lay_column(layout, layout.list_of(page, "Body"), (0, 4 * width), 0, 1)
-    return width, height, layout.colour(page, "Back", _WHITE), tuple(marks), tuple(layout.acts)
+    return width, height, layout.colour(page, "Back", _WHITE), tuple(marks), layout.page_acts()
 
 
 def _add_open(layout, holder):

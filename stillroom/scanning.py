@@ -58,6 +58,14 @@ def read_digits(data, at):
     return number, end
 
 
+def number_of_digits(data):
+    """The number that some digits are."""
+    number = 0
+    for byte in data:
+        number = number * 10 + byte - 48
+    return number
+
+
 def mark_at(data, at, sign):
     """The tuple (number, the place behind it) of the number mark with this sign at the
     place, or (0, at) if there is none."""
