@@ -248,6 +248,11 @@ class Tables(unittest.TestCase):
             marks = marks_of(table(f"[{back(1, span)}]", "1 2 3"))
             self.assertEqual(marks, [box_mark(0, 0, 4 * last, 4, 1)])
 
+    def test_a_span_of_16(self):
+        for span, count in ((15, 15), (16, 16), (17, 16)):
+            marks = marks_of(table(f"[{back(1, f'/Span {span}')}]", "1 " * 16))
+            self.assertEqual(marks, [box_mark(0, 0, 4 * count, 4, 1)])
+
     def test_the_first_free_column(self):
         marks = marks_of(table(f"[{back(1, '/Span 2')}{back(2)}{back(3, '/Span 9')}]", "1 2 3 4 5"))
         self.assertEqual(marks, [box_mark(0, 0, 12, 4, 1), box_mark(12, 0, 24, 4, 2), box_mark(24, 0, 60, 4, 3)])

@@ -184,6 +184,13 @@ class Numbers(Deciding):
                 self.check(f"drop if {word} >= {number}", 0)
                 self.check(f"drop if {word} < {number}", -1)
 
+    def test_one_below_the_upper_bounds(self):
+        for word, most in (("size", TOP), ("pages", 8), ("depth", 4)):
+            self.check(f"drop if {word} > {most - 1}")
+            self.check(f"drop if {word} > {most - 1} and {word} < {most}", 0)
+        self.check("drop if size > 0 and size < 2")
+        self.check("drop if size > 5 and size < 7\nclean if size = 6", 1)
+
     def test_many_acts(self):
         # There may be more acts than any number says.
         for sign in ("<", "<=", "=", ">=", ">"):
@@ -204,6 +211,23 @@ class Acts(Deciding):
         self.check("drop if acts > 3\nclean if act open and act file and act link")
         self.check("drop if acts = 1 and act open and act file", 0)
         self.check("drop if acts = 2 and act open and act file")
+
+    def test_several_kinds_in_each_number(self):
+        for number in (2, 3, 4, 5, 6, 7, 99, 100):
+            self.check(f"drop if act open and act file and acts = {number}")
+            self.check(f"drop if act open and not act file and acts = {number}")
+            self.check(f"drop if act open and act file and acts > {number}")
+        for number in (3, 4, 5, 6, 7, 100):
+            self.check(f"hold if not act open\ndrop if act file and act link and acts = {number}")
+
+    def test_five_and_six_kinds(self):
+        three = "hold if not act open\nhold if not act file\nhold if not act link\n"
+        self.check(three + "drop if act form and act fetch and act script")
+        found = example(read_policy(three + "drop if act form and act fetch and act script"), 3)
+        self.assertEqual(set(found[5]), set(ACT_KINDS))
+        two = "hold if not act open\nhold if not act file\n"
+        for number, without in ((4, [3]), (5, [3]), (6, []), (7, [])):
+            self.check(two + f"hold if acts >= {number}\ndrop if act link and act form and act fetch", *without)
 
     def test_acts_of_no_kind(self):
         # Some act must be of a kind.
@@ -287,6 +311,13 @@ class Names(Deciding):
         # A star in a name is any byte.
         self.check('drop if name "*" and not name "a*" and not name ""')
         self.check('drop if not name "*"', 0)
+
+    def test_other_bytes(self):
+        # Some byte stands at no place of the patterns, whatever they are.
+        for one, other in (")+", "+)", "ab", "!a"):
+            self.check(f'drop if name ""\ndrop if name "{one}*"')
+            self.check(f'drop if name ""\ndrop if name "{one}*"\ndrop if name "{other}*"')
+            self.check(f'drop if not name "{one}*" and not name "{other}*" and not name ""')
 
     def test_every_byte(self):
         # Together these have nearly all bytes that a name could begin with.

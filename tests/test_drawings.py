@@ -35,6 +35,11 @@ class Drawings(unittest.TestCase):
             found = marks_of(drawing(self.point, f"/Width {side} /Height {side}") + sealed(), objects="#2 5")
             clip = (0, 0, 4 * cells, 4 * cells)
             self.assertEqual(found, [mark([(0, 0)], clip=clip), sealed_mark(0, 4 * cells)])
+        for side, cells in ((63, 63), (64, 64), (65, 64)):
+            page = f"<</Width 64 /Height 64 /Body [{drawing(self.point, f'/Width {side} /Height {side}')} {sealed()}]>>"
+            found = pages_of(book(f"#1 <</Pages [{page}]>>"))[0][3]
+            self.assertEqual(found[0], mark([(0, 0)], clip=(0, 0, 4 * cells, 4 * cells)))
+            self.assertEqual(found[1], sealed_mark(0, 4 * cells, clip=(0, 0, 256, 256)))
         found = marks_of(drawing(self.point, "/Width 3 /Height 5") + sealed())
         self.assertEqual(found, [mark([(0, 0)], clip=(0, 0, 12, 20)), sealed_mark(0, 20)])
 

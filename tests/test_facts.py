@@ -32,6 +32,12 @@ class Facts(unittest.TestCase):
         self.check(crate_of(a=still(5)), "crate", ["crate"], 1, [], 1)
         self.check(crate_of(a=crate_of(b=crate_of(c=[]))), "crate", ["crate"], 0, [], 3)
 
+    def test_the_deepest_crates(self):
+        data = still(5)
+        for levels in range(1, 7):
+            data = crate_of(a=data)
+            self.check(data, "crate", ["crate"], 1 if levels <= 4 else 0, [], min(levels, 4))
+
     def test_all_kinds_of_acts(self):
         blocks = "<</Kind /Field>> <</Kind /Fetch>> <</Kind /Script>> <</Kind /Text /Runs [<</Link (a)>>]>>"
         data = folio(f"#1 <</Pages [<</Body [{blocks}]>>] /Files [1] /Open 5>>")

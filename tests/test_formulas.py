@@ -105,6 +105,9 @@ class Trees(Reading):
         self.check("(1+2)*3", pair("*", pair("+", ONE, TWO), THREE))
         self.check("1-(2-3)", pair("-", ONE, pair("-", TWO, THREE)))
         self.check("(1<2)+3", pair("+", pair("<", ONE, TWO), THREE))
+        for sign in "+-*/),:=<>":
+            # Only a parenthesis opens what one closes.
+            self.check_none(sign + "1)", "2*" + sign + "1)", "SUM(" + sign + "1))")
         self.check_none("(1", "1)", "(1))", "((1)", "()", "(1)2", "1(2)", "(1)(2)", "(1,2)", "(A1:B2)", ")1(")
 
     def test_comparisons_side_by_side(self):

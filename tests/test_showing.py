@@ -454,6 +454,12 @@ class Showing(unittest.TestCase):
             found = look_at(data, budget(len(data)), 0)
             self.assertEqual((show(data), acts(data), depth(data)), found[:3])
 
+    def test_crates_in_crates(self):
+        data = still(5)
+        for levels in range(1, 7):
+            data = crate_of(a=data)
+            self.assertEqual((show(data), depth(data)), (dots(5) if levels <= 4 else [], min(levels, 4)))
+
     def test_alike(self):
         self.assertTrue(alike(still(5), folio_of(5)))
         self.assertTrue(alike(folio_of(5), folio_of(5, more="/Open (x)", acts=("y",))))

@@ -196,6 +196,14 @@ class Lines(unittest.TestCase):
                 root = styled(f"/Indent {indent} /Align /{align}")
                 self.check("!$", rune(4 * indent, 0), rune(4 * indent, 24, "$"), root=root)
 
+    def test_a_width_of_at_least_1(self):
+        # Without an advance a rune stands at the end of a width of 1, at the right side.
+        data = to_hex(write_font((((0, (("move", 0, 0),)),), ())))
+        fonts = "/Fonts <</F <</Filter /Hex>>{%d}%s{}>>" % (len(data), bytes(data).decode())
+        for indent, x in ((64, 257), (17, 69), (16, 65), (15, 64)):
+            root = styled(f"/Align /Right /Font /F /Indent {indent}") + fonts
+            self.assertEqual(marks_of(words("!", "/Style /S"), root=root), [("fill", PAGE_BOX, (((x, 0),),), 0)])
+
     def test_within_a_box(self):
         body = sealed() + f"<</Kind /Box /Pad 2 /Blocks [{words('! !!', '/Style /S')}]>>"
         self.assertEqual(marks_of(body, root=styled("/Align /Right")), [
@@ -347,6 +355,10 @@ class Fonts(unittest.TestCase):
     def test_a_font_that_is_not_there_costs_nothing(self):
         body = words("", "/Style /S")
         check_costs(self, book_with(body * 2, root=styled("/Font /F")), 2 + 2 + 2 + 2)
+
+    def test_fields_have_fonts(self):
+        marks = marks_of("<</Kind /Field /Value (a) /Style /S>>", root=self.root())
+        self.assertEqual([mark[2] for mark in marks], [(((3, 5),),)])
 
     def test_only_texts_and_fields_reach_fonts(self):
         body = "".join(f"<</Kind /{kind} /Style /S>>" for kind in "Box Table Picture Sealed Script Fetch Drawing".split())
