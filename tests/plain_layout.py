@@ -302,12 +302,15 @@ def plain_lay_out(book, left):
     return Plain(book, left).pages()
 
 
-KEYS = """Pages Width Height Back Body Open Files Do Kind Style Runs Text Color Link Send Value Blocks Pad Columns Rows Span
-From Data Parts Dx Dy Scale Path Use Shapes Styles Fonts Parent Font Size Align Indent Gap Filter A B""".split()
+KEYS = """Pages Width Height Back Body Open Files Do Kind Style Runs Text Color Link Send Value Blocks Pad Columns
+Rows Span From Data Parts Dx Dy Scale Path Use Shapes Styles Fonts Parent Font Size Align Indent Gap Filter
+A B""".split()
 NAMES = "Text Field Box Table Picture Sealed Script Fetch Drawing M L Q A B Left Middle Right Hex Runs".split()
 STREAMS = (
     b"", b"abc", bytes(write_picture((2, 2, [1, 2, 3, -1]))),
-    bytes(write_font((((5, (("move", 1, 1), ("line", 2, 5))), (4, ()), (-3, (("move", 0, 0),))), ((97, 99, 0), (32, 32, 1))))),
+    bytes(write_font((
+        ((5, (("move", 1, 1), ("line", 2, 5))), (4, ()), (-3, (("move", 0, 0),))), ((97, 99, 0), (32, 32, 1)),
+    ))),
 )
 
 
@@ -325,13 +328,15 @@ class Drawer:
 
     def value(self, room):
         source = self.source
-        kind = source.choice("none bool int int int name name text ref ref list dict stream path".split()[:14 if room else 9])
+        kinds = "none bool int int int name name text ref ref list dict stream path".split()
+        kind = source.choice(kinds[:14 if room else 9])
         if kind == "none":
             return ("none",)
         if kind == "bool":
             return "bool", source.randint(0, 1)
         if kind == "int":
-            return "int", source.choice((0, 1, 2, 3, 5, 64, 65, -1, 16, FAR + 1, -2000000, 16777215, source.randint(0, 99)))
+            numbers = (0, 1, 2, 3, 5, 64, 65, -1, 16, FAR + 1, -2000000, 16777215, source.randint(0, 99))
+            return "int", source.choice(numbers)
         if kind == "name":
             return "name", tuple(source.choice(NAMES).encode())
         if kind == "text":
@@ -355,14 +360,16 @@ class Drawer:
 
     def some(self, draw, most, room):
         """A list of what is drawn, with other values among them."""
-        return "list", tuple(draw(room) if self.source.random() < 0.85 else self.value(1) for _ in range(self.source.randint(0, most)))
+        count = self.source.randint(0, most)
+        return "list", tuple(draw(room) if self.source.random() < 0.85 else self.value(1) for _ in range(count))
 
     def block(self, room):
         pairs = {key: self.value(1) for key in self.source.sample(KEYS, 5)}
         pairs["Kind"] = "name", tuple(self.source.choice(NAMES[:9]).encode())
         pairs["Style"] = "name", (self.source.choice(b"AB"),)
         pairs["Text"] = "text", tuple(self.source.choice((b"!! a b ", b"abc cba a")))
-        pairs["Data"] = self.source.choice((("ref", self.source.randint(1, self.last)), ("stream", (), tuple(STREAMS[2]))))
+        reference = ("ref", self.source.randint(1, self.last))
+        pairs["Data"] = self.source.choice((reference, ("stream", (), tuple(STREAMS[2]))))
         if self.source.random() < 0.3:
             pairs["Runs"] = self.some(self.run, 3, 0)
         if room > 0:
@@ -387,8 +394,10 @@ class Drawer:
 
     def book(self):
         style = "Parent Font Size Color Back Align Indent Gap".split()
-        styles = {word: ("dict", keyed(**{key: self.value(0) for key in self.source.sample(style, 4)})) for word in "AB"}
-        fonts = {word: self.source.choice((self.value(1), ("stream", (), tuple(STREAMS[3])))) for word in ("A", "B", "Text")}
+        styles, fonts = {}, {}
+        for word in ("A", "B", "Text"):
+            styles[word] = ("dict", keyed(**{key: self.value(0) for key in self.source.sample(style, 4)}))
+            fonts[word] = self.source.choice((self.value(1), ("stream", (), tuple(STREAMS[3]))))
         root = ("dict", keyed(
             Pages=self.some(self.page, 3, 2), Styles=("dict", keyed(**styles)), Fonts=("dict", keyed(**fonts)),
             Shapes=("dict", keyed(**{word: self.shape(1) for word in "ABC"})), Files=self.value(1), Open=self.value(1),

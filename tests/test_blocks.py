@@ -60,7 +60,8 @@ class Pictures(unittest.TestCase):
         self.assertEqual(marks, [image(44, 8), sealed_mark(8, 16)])
 
     def test_fetches(self):
-        for source, data in (("(a)", ["a"]), ("()", [""]), ("@2", ["b"]), ("/a", []), ("none", []), ("5", []), ("[(a)]", [])):
+        for source, data in (("(a)", ["a"]), ("()", [""]), ("@2", ["b"]), ("/a", []), ("none", []), ("5", []),
+                             ("[(a)]", [])):
             acts = acts_of(picture(f"/From {source}"), objects="#2 (b)")
             self.assertEqual(acts, [act("fetch", part) for part in data])
 
@@ -143,7 +144,8 @@ class Sealed(unittest.TestCase):
 
 class Scripts(unittest.TestCase):
     def check(self, kind, key, other):
-        for value, data in (("(ab)", "ab"), ("()", ""), ("/ab", ""), ("none", ""), ("5", ""), ("@2", "cd"), ("@99", "")):
+        for value, data in (("(ab)", "ab"), ("()", ""), ("/ab", ""), ("none", ""), ("5", ""), ("@2", "cd"),
+                            ("@99", "")):
             body = f"<</Kind /{kind} /{key} {value} /{other} (x)>>" + sealed()
             self.assertEqual(acts_of(body, objects="#2 (cd)"), [act(kind.lower(), data)])
             self.assertEqual(marks_of(body), [sealed_mark(0, 0)])

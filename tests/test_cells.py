@@ -21,8 +21,8 @@ class Places(unittest.TestCase):
 
     def test_no_places(self):
         for value in (
-            (16, 0), (0, 32), (-1, 0), (0, -1), (0,), (0, 0, 0), (), [0, 0], None, 0, "A1", ("A", 1), (0, "1"), (True, 0),
-            (0, False), (0, None), ((0, 0),), {0: 0}, (b"A", 0), ((0,), 0), ([], []),
+            (16, 0), (0, 32), (-1, 0), (0, -1), (0,), (0, 0, 0), (), [0, 0], None, 0, "A1", ("A", 1), (0, "1"),
+            (True, 0), (0, False), (0, None), ((0, 0),), {0: 0}, (b"A", 0), ((0,), 0), ([], []),
         ):
             with self.assertRaises(OutOfRange):
                 place_name(value)
@@ -55,7 +55,8 @@ class Reading(unittest.TestCase):
         self.assertEqual(below, (None, 0))
 
     def test_without_the_sign(self):
-        for data in (b"", b"sheet 1", b"sheet 2\nA1 5\n", b"Sheet 1\nA1 5\n", b" sheet 1\nA1 5\n", b"sheet 1\r\nA1 5", b"A1 5\n"):
+        for data in (b"", b"sheet 1", b"sheet 2\nA1 5\n", b"Sheet 1\nA1 5\n", b" sheet 1\nA1 5\n", b"sheet 1\r\nA1 5",
+                     b"A1 5\n"):
             for left in (0, 5, 1000):
                 self.assertEqual(read_sheet(list(data), left), (None, left))
 
@@ -151,10 +152,10 @@ class Writing(unittest.TestCase):
         cell = ((0, 0), (53,))
         for value in (
             None, 5, "sheet", [], [cell], {}, cell, (cell, None), (5,), ((),), (((0, 0),),), (((0, 0), (53,), 1),),
-            ([(0, 0), (53,)],), (((0, 0), [53]),), (((0, 0), "5"),), (((0, 0), b"5"),), (((0, 0), 5),), (((0, 0), (256,)),),
-            (((0, 0), (-1,)),), (((0, 0), (True,)),), (((0, 0), ("5",)),), (((0, 0), None),), (((16, 0), (53,)),),
-            (((0, 32), (53,)),), (((-1, 0), (53,)),), (((True, 0), (53,)),), (("A1", (53,)),), (([0, 0], (53,)),),
-            (((0,), (53,)),),
+            ([(0, 0), (53,)],), (((0, 0), [53]),), (((0, 0), "5"),), (((0, 0), b"5"),), (((0, 0), 5),),
+            (((0, 0), (256,)),), (((0, 0), (-1,)),), (((0, 0), (True,)),), (((0, 0), ("5",)),), (((0, 0), None),),
+            (((16, 0), (53,)),), (((0, 32), (53,)),), (((-1, 0), (53,)),), (((True, 0), (53,)),), (("A1", (53,)),),
+            (([0, 0], (53,)),), (((0,), (53,)),),
         ):
             self.check_malformed(value)
 

@@ -10,8 +10,8 @@ FORM, KIND, ZERO, SIZE, LOOP = [error(word) for word in ("form", "kind", "zero",
 
 # Cells of each kind of value. E and F are errors that no sign makes by itself here.
 CELLS = {
-    (0, 0): number(5), (1, 0): number(-7), (2, 0): NONE, (3, 0): text("b"), (4, 0): LOOP, (5, 0): FORM, (6, 0): text(""),
-    (7, 0): number(TOP), (8, 0): number(-TOP), (9, 0): number(0), (10, 0): text("x" * 200),
+    (0, 0): number(5), (1, 0): number(-7), (2, 0): NONE, (3, 0): text("b"), (4, 0): LOOP, (5, 0): FORM,
+    (6, 0): text(""), (7, 0): number(TOP), (8, 0): number(-TOP), (9, 0): number(0), (10, 0): text("x" * 200),
 }
 
 
@@ -20,12 +20,14 @@ class Contents(unittest.TestCase):
         self.assertEqual(content_value(content(data)), value)
 
     def test_numbers(self):
-        for data in ("0", "7", "-7", "123456789012345", "-123456789012345", "999999999999999", "-999999999999999", "10"):
+        for data in ("0", "7", "-7", "123456789012345", "-123456789012345", "999999999999999", "-999999999999999",
+                     "10"):
             self.check(data, number(int(data)))
 
     def test_texts(self):
-        for data in ("1234567890123456", "-1234567890123456", "-0", "01", "-01", "00", "-", "--1", "+1", "1.5", "1 ", " 1",
-                     "1-", "a", " ", "1e5", "\xb2", "%", "\xff", "-a", "0" * 15, "9" * 18, "9" * 200, " =1", "'=1", "A1"):
+        for data in ("1234567890123456", "-1234567890123456", "-0", "01", "-01", "00", "-", "--1", "+1", "1.5", "1 ",
+                     " 1", "1-", "a", " ", "1e5", "\xb2", "%", "\xff", "-a", "0" * 15, "9" * 18, "9" * 200, " =1",
+                     "'=1", "A1"):
             self.check(data, text(data))
 
     def test_formulas(self):
@@ -65,8 +67,9 @@ class Leaves(Trees):
 
 class Signs(Trees):
     def test_sums_and_products(self):
-        for data, found in (("5+7", 12), ("5-7", -2), ("5*7", 35), ("7/5", 1), ("A1+B1", -2), ("A1-B1", 12), ("A1*B1", -35),
-                            ("-A1", -5), ("-B1", 7), ("--A1", 5), ("-0", 0), ("1-2-3", -4), ("8/4/2", 1)):
+        for data, found in (("5+7", 12), ("5-7", -2), ("5*7", 35), ("7/5", 1), ("A1+B1", -2), ("A1-B1", 12),
+                            ("A1*B1", -35), ("-A1", -5), ("-B1", 7), ("--A1", 5), ("-0", 0), ("1-2-3", -4),
+                            ("8/4/2", 1)):
             self.check(data, number(found))
 
     def test_quotients_are_rounded_down(self):
@@ -86,7 +89,8 @@ class Signs(Trees):
 
     def test_texts(self):
         for sign in "+-*/":
-            for first, second in (("D1", "1"), ("1", "D1"), ("D1", "D1"), ("G1", "1"), ("1", "G1"), ("C1", "D1"), ('"1"', "1")):
+            for first, second in (("D1", "1"), ("1", "D1"), ("D1", "D1"), ("G1", "1"), ("1", "G1"), ("C1", "D1"),
+                                  ('"1"', "1")):
                 self.check(first + sign + second, KIND)
         self.check("-D1", KIND)
         self.check("-G1", KIND)
@@ -206,8 +210,9 @@ class Choices(Trees):
 
 class Calls(Trees):
     def test_numbers(self):
-        for data, found in (("SUM(1,2,3)", 6), ("MIN(3,1,2)", 1), ("MAX(1,3,2)", 3), ("COUNT(5,5,5)", 3), ("SUM(-1)", -1),
-                            ("MIN(-1)", -1), ("MAX(-1)", -1), ("COUNT(-1)", 1), ("MAX(B1,-9)", -7), ("MIN(A1,9)", 5)):
+        for data, found in (("SUM(1,2,3)", 6), ("MIN(3,1,2)", 1), ("MAX(1,3,2)", 3), ("COUNT(5,5,5)", 3),
+                            ("SUM(-1)", -1), ("MIN(-1)", -1), ("MAX(-1)", -1), ("COUNT(-1)", 1), ("MAX(B1,-9)", -7),
+                            ("MIN(A1,9)", 5)):
             self.check(data, number(found))
 
     def test_none_by_itself_counts_as_0(self):
@@ -221,8 +226,9 @@ class Calls(Trees):
 
     def test_ranges(self):
         # 5, -7, none and a text.
-        for data, found in (("SUM(A1:D1)", -2), ("MIN(A1:D1)", -7), ("MAX(A1:D1)", 5), ("COUNT(A1:D1)", 2), ("SUM(D1:A1)", -2),
-                            ("SUM(A1:D1,A1:B1,1)", -3), ("COUNT(A1:D1,C1,9)", 4), ("COUNT(A1:A1)", 1)):
+        for data, found in (("SUM(A1:D1)", -2), ("MIN(A1:D1)", -7), ("MAX(A1:D1)", 5), ("COUNT(A1:D1)", 2),
+                            ("SUM(D1:A1)", -2), ("SUM(A1:D1,A1:B1,1)", -3), ("COUNT(A1:D1,C1,9)", 4),
+                            ("COUNT(A1:A1)", 1)):
             self.check(data, number(found))
 
     def test_ranges_without_numbers(self):
@@ -247,8 +253,9 @@ class Calls(Trees):
 
     def test_joins(self):
         for data, found in (('JOIN("a","b")', "ab"), ("JOIN(A1,B1)", "5-7"), ("JOIN(C1)", ""), ("JOIN(A1:D1)", "5-7b"),
-                            ("JOIN(D1:A1)", "5-7b"), ("JOIN(D1,A1:D1,1)", "b5-7b1"), ("JOIN(G1)", ""), ("JOIN(-0)", "0"),
-                            ("JOIN(H1)", "1000000000000000"), ("JOIN(007)", "7"), ("JOIN(A2:P32)", "")):
+                            ("JOIN(D1:A1)", "5-7b"), ("JOIN(D1,A1:D1,1)", "b5-7b1"), ("JOIN(G1)", ""),
+                            ("JOIN(-0)", "0"), ("JOIN(H1)", "1000000000000000"), ("JOIN(007)", "7"),
+                            ("JOIN(A2:P32)", "")):
             self.check(data, text(found))
 
     def test_the_bound_of_joins(self):
@@ -257,7 +264,8 @@ class Calls(Trees):
         self.check("JOIN(K1,D1)", SIZE)
         self.check("JOIN(D1,K1)", SIZE)
         self.check("JOIN(K1:K1,A1)", SIZE)
-        self.check(f'JOIN("{"y" * 100}","{"z" * 80}",H1,A1,A1,A1,A1)', text("y" * 100 + "z" * 80 + "1" + "0" * 15 + "5555"))
+        self.check(f'JOIN("{"y" * 100}","{"z" * 80}",H1,A1,A1,A1,A1)',
+                   text("y" * 100 + "z" * 80 + "1" + "0" * 15 + "5555"))
 
     def test_links(self):
         for word in ("LINK", "FETCH"):
@@ -279,13 +287,15 @@ class Calls(Trees):
         for _ in range(300):
             cells = {}
             for place in itertools.product(range(4), range(4)):
-                cells[place] = source.choice((NONE, text("t"), number(source.randint(-9, 9)), number(source.randint(-9, 9))))
+                cells[place] = source.choice((NONE, text("t"), number(source.randint(-9, 9)),
+                                              number(source.randint(-9, 9))))
             first, last = [(source.randint(0, 3), source.randint(0, 3)) for _ in range(2)]
             columns = range(min(first[0], last[0]), max(first[0], last[0]) + 1)
             rows = range(min(first[1], last[1]), max(first[1], last[1]) + 1)
             inside = [cells[column, row] for row in rows for column in columns]
             numbers = [value[1] for value in inside if value[0] == "number"]
-            expected = {"SUM": sum(numbers), "MIN": min(numbers, default=0), "MAX": max(numbers, default=0), "COUNT": len(numbers)}
+            expected = {"SUM": sum(numbers), "MIN": min(numbers, default=0), "MAX": max(numbers, default=0),
+                        "COUNT": len(numbers)}
             for word, found in expected.items():
                 self.assertEqual(tree_value(("call", word, (("range", first, last),)), cells), number(found))
 

@@ -34,8 +34,9 @@ class Cleaning(unittest.TestCase):
 
     def test_what_is_shown_alike_is_cleaned_to_the_same_list(self):
         lists = [
-            still(5), picture(5), moving(5), folio_of(5), folio_of(5, more="/Open (x) /Files [(a)] /Hidden (b)", acts=("s",)),
-            crate_of(a=still(5)), crate_of(a=crate_of(b=picture(5))), picture(5) + [1, 2, 3], [0] * 9 + folio_of(5),
+            still(5), picture(5), moving(5), folio_of(5),
+            folio_of(5, more="/Open (x) /Files [(a)] /Hidden (b)", acts=("s",)), crate_of(a=still(5)),
+            crate_of(a=crate_of(b=picture(5))), picture(5) + [1, 2, 3], [0] * 9 + folio_of(5),
             crate_of(a=still(), b=[1, 2], c=moving(5, 5)),
         ]
         for data in lists:

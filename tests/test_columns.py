@@ -310,7 +310,8 @@ class Tables(unittest.TestCase):
 
     def test_acts(self):
         script = "<</Kind /Script /Text ({})>>"
-        rows = f"[{cell(script.format('a') + script.format('b'))}{cell(script.format('c'))}] [{cell(script.format('d'))}]"
+        a, b, c, d = [script.format(letter) for letter in "abcd"]
+        rows = f"[{cell(a + b)}{cell(c)}] [{cell(d)}]"
         self.assertEqual(acts_of(table(rows, "1 1")), [act("script", letter) for letter in "abcd"])
 
     def test_costs(self):

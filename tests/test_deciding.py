@@ -85,11 +85,12 @@ class Rules(Deciding):
 
     def test_contradictions(self):
         for terms in (
-            "is folio and is crate", "is folio and not is folio", "could still and could picture", "is still and not could still",
-            "act open and acts = 0", "act open and act file and acts < 2",
+            "is folio and is crate", "is folio and not is folio", "could still and could picture",
+            "is still and not could still", "act open and acts = 0", "act open and act file and acts < 2",
             "acts = 1 and acts = 2", "pages > 3 and pages < 4", "depth >= 3 and depth <= 2", "size = 5 and size > 5",
-            "name \"a\" and name \"b\"", "name \"a*\" and name \"b*\"", "name \"\" and name \"a*\"", "act form and not act form",
-            "size < 5 and not size < 6", "not name \"*\"", "is none and could crate", "not size >= 0",
+            "name \"a\" and name \"b\"", "name \"a*\" and name \"b*\"", "name \"\" and name \"a*\"",
+            "act form and not act form", "size < 5 and not size < 6", "not name \"*\"", "is none and could crate",
+            "not size >= 0",
         ):
             self.check(f"drop if {terms}", 0)
             self.check(f"clean if is folio\ndrop if {terms}\nhold", -1, 1)
@@ -106,7 +107,8 @@ class Rules(Deciding):
         policies = []
         while len(policies) < 300:
             words = source.choice((("acts", "act"), ("is", "could"), ("name",), ("size", "pages"), ("depth", "act")))
-            policy = tuple((verdict, tuple(term for term in terms if term[1][0] in words)) for verdict, terms in drawn_policy(source))
+            rules = drawn_policy(source)
+            policy = tuple((verdict, tuple(term for term in terms if term[1][0] in words)) for verdict, terms in rules)
             if sum(len(terms) for _, terms in policy) >= 3:
                 policies.append(policy)
         for policy in policies:
@@ -234,8 +236,9 @@ class Acts(Deciding):
         self.check("drop if act open\ndrop if act file\ndrop if act link\nclean if acts > 0")
         policy = read_policy("hold if act open\nhold if act file\nhold if act link\ndrop if acts > 0")
         self.assertIn(example(policy, 3)[5][0], ("form", "fetch", "script"))
-        first = read_policy("clean if acts = 0\nhold if act open\nhold if act file\nclean if not act link and not act form")
-        second = read_policy("clean if acts = 0\nhold if act open\nhold if act file\nclean if act fetch and not act link and not act form")
+        begin = "clean if acts = 0\nhold if act open\nhold if act file\n"
+        first = read_policy(begin + "clean if not act link and not act form")
+        second = read_policy(begin + "clean if act fetch and not act link and not act form")
         found = difference(first, second)
         self.assertEqual(set(found[5]), {"script"})
         self.check_difference(first, second, True)
@@ -289,8 +292,8 @@ class Kinds(Deciding):
 
 class Names(Deciding):
     def test_patterns_that_contain_each_other(self):
-        for outer, inner in (("*", "a"), ("a*", "ab*"), ("*a", "*ba"), ("*a*", "*a*a*"), ("*a*", "a"), ("a*b", "a*b*b"), ("*", ""),
-                             ("*a*b*", "*ab*"), ("a*a", "aa*a"), ("*ab", "*aab")):
+        for outer, inner in (("*", "a"), ("a*", "ab*"), ("*a", "*ba"), ("*a*", "*a*a*"), ("*a*", "a"), ("a*b", "a*b*b"),
+                             ("*", ""), ("*a*b*", "*ab*"), ("a*a", "aa*a"), ("*ab", "*aab")):
             always = [-1] if outer == "*" else []
             self.check(f'drop if name "{outer}"\nclean if name "{inner}"', *always, 1)
             self.check(f'drop if name "{inner}"\nclean if name "{outer}"', *always)
@@ -325,7 +328,8 @@ class Names(Deciding):
         rules = []
         for begin in range(0, 255, 20):
             rules.append((False, ("name", tuple(signs[begin:begin + 20]))))
-        policy = (("drop", tuple(rules[:3])), ("drop", tuple(rules[3:6])), ("hold", tuple(rules[6:9])), ("clean", tuple(rules[9:12])))
+        verdicts = ("drop", "drop", "hold", "clean")
+        policy = tuple((verdict, tuple(rules[3 * at:3 * at + 3])) for at, verdict in enumerate(verdicts))
         self.assertTrue(is_policy(policy))
         self.assertEqual(self.check_examples(policy), [0, 1, 2, 3])
         single = tuple((verdict, (rule,)) for verdict, rule in zip(("drop", "clean", "hold", "drop"), rules))
@@ -335,7 +339,8 @@ class Names(Deciding):
         long = "a" * 20
         self.check(f'drop if name "{long}"')
         self.assertEqual(example(named(long), 0)[0], (97,) * 20)
-        for pattern in ("*" + "a" * 19, "a" * 19 + "*", "a" * 9 + "*" + "b" * 10, "*".join("abcdefghij") + "*", "*" * 20, "ab" * 10):
+        for pattern in ("*" + "a" * 19, "a" * 19 + "*", "a" * 9 + "*" + "b" * 10, "*".join("abcdefghij") + "*",
+                        "*" * 20, "ab" * 10):
             self.check(f'drop if name "{pattern}"', *([-1] if pattern == "*" * 20 else []))
         self.check(f'drop if name "*{"a" * 9}b{"a" * 9}" and name "a*" and not name "b*"')
         self.check(f'drop if name "*{"ab" * 9}*" and name "{"ba" * 9}*" and name "*aaa"')
@@ -398,7 +403,8 @@ class Bounds(Deciding):
 
     def test_other_numbers_of_states(self):
         # Patterns that end do not multiply as much: k signs have k + 2 states.
-        for pattern, count in (("", 2), ("a", 3), ("abc", 5), ("*", 1), ("*a", 2), ("*aa", 3), ("a*", 3), ("*a*", 2), ("**a**", 2)):
+        for pattern, count in (("", 2), ("a", 3), ("abc", 5), ("*", 1), ("*a", 2), ("*aa", 3), ("a*", 3), ("*a*", 2),
+                               ("**a**", 2)):
             self.assertEqual(plain_states([named(pattern)]), count)
             self.check_bound(named(pattern), False)
         policy = named(*[f"*{letter}*" for letter in "abcdefgh"], "*xx")
@@ -409,7 +415,8 @@ class Bounds(Deciding):
         self.check_bound(policy, False)
 
     def test_two_policies_together(self):
-        first, second = named(*[f"*{letter}*" for letter in "abcde"]), named(*[f"*{letter}*" for letter in "fghi"], verdict="clean")
+        first = named(*[f"*{letter}*" for letter in "abcde"])
+        second = named(*[f"*{letter}*" for letter in "fghi"], verdict="clean")
         self.assertEqual(plain_states([first, second]), 512)
         self.check_difference(first, second, True)
         more = second + named("")
@@ -428,7 +435,8 @@ class Bounds(Deciding):
         source = drawn(86)
         few = 0
         for _ in range(60):
-            patterns = ["".join(source.choice("*abc") for _ in range(source.randint(0, 9))) for _ in range(source.randint(1, 6))]
+            lengths = [source.randint(0, 9) for _ in range(source.randint(1, 6))]
+            patterns = ["".join(source.choice("*abc") for _ in range(length)) for length in lengths]
             policy = named(*patterns)
             few += plain_states([policy]) <= 512
             self.check_bound(policy, plain_states([policy]) > 512)
@@ -551,13 +559,19 @@ class Differences(Deciding):
     def test_large_policies(self):
         source = drawn(89)
         for _ in range(10):
-            first, second = [tuple((verdict, tuple((source.random() < 0.5, (word, sign, source.randint(0, 9)))
-                             for word, sign in zip(source.choices(("size", "pages", "acts", "depth"), k=3), "<>=")))
-                             for verdict in ("drop", "clean", "hold", "drop")) for _ in range(2)]
+            first, second = [self.drawn_numbers(source) for _ in range(2)]
             found = difference(first, second)
             if found is not None:
                 self.assertNotEqual(judge(first, found)[0], judge(second, found)[0])
             self.assertIsNone(difference(first, first))
+
+    def drawn_numbers(self, source):
+        rules = []
+        for verdict in ("drop", "clean", "hold", "drop"):
+            words = source.choices(("size", "pages", "acts", "depth"), k=3)
+            bodies = [(word, sign, source.randint(0, 9)) for word, sign in zip(words, "<>=")]
+            rules.append((verdict, tuple((source.random() < 0.5, body) for body in bodies)))
+        return tuple(rules)
 
     def test_copies(self):
         policy = read_policy("drop if is folio and size < 10\nclean if act open")

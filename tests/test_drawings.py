@@ -148,7 +148,8 @@ class Paths(unittest.TestCase):
     def test_items_that_are_no_integers(self):
         # The list ends there, whatever stands behind.
         for wrong in ("none", "(5)", "/M", "/L", "true", "[5]", "<<>>", "@99", "@2"):
-            for end in ("/M {} 5", "/M 5 {}", "/L {} 5", "/L 5 {}", "/Q {} 6 7 8", "/Q 5 {} 7 8", "/Q 5 6 {} 8", "/Q 5 6 7 {}"):
+            for end in ("/M {} 5", "/M 5 {}", "/L {} 5", "/L 5 {}", "/Q {} 6 7 8", "/Q 5 {} 7 8", "/Q 5 6 {} 8",
+                        "/Q 5 6 7 {}"):
                 path = "/M 1 2 /L 3 4 " + end.format(wrong) + " /M 7 7 /L 8 8"
                 self.check(path, [(1, 2), (3, 4)], objects="#2 @2")
 
@@ -185,13 +186,15 @@ class Changes(unittest.TestCase):
         return [found[2][0][0] for found in marks if found[3] == 0]
 
     def test_moves(self):
-        for more, point in (("/Dx 5", (6, 2)), ("/Dy 5", (1, 7)), ("/Dx -5 /Dy -7", (-4, -5)), ("/Dx none /Dy (5)", (1, 2)),
-                            ("/Dx @2", (10, 2)), (f"/Dx {FAR} /Dy {-FAR}", (FAR + 1, 2 - FAR)),
+        for more, point in (("/Dx 5", (6, 2)), ("/Dy 5", (1, 7)), ("/Dx -5 /Dy -7", (-4, -5)),
+                            ("/Dx none /Dy (5)", (1, 2)), ("/Dx @2", (10, 2)),
+                            (f"/Dx {FAR} /Dy {-FAR}", (FAR + 1, 2 - FAR)),
                             (f"/Dx {FAR + 1} /Dy {-FAR - 1}", (FAR + 1, 2 - FAR))):
             self.assertEqual(self.points(shape("/M 1 2", more), objects="#2 9"), [point])
 
     def test_scales(self):
-        for scale, n in (("1", 1), ("4", 4), ("64", 64), ("0", 1), ("-3", 1), ("65", 64), ("none", 4), ("(8)", 4), ("7", 7)):
+        for scale, n in (("1", 1), ("4", 4), ("64", 64), ("0", 1), ("-3", 1), ("65", 64), ("none", 4), ("(8)", 4),
+                         ("7", 7)):
             point = (13 * n // 4, -13 * n // 4)
             self.assertEqual(self.points(shape("/M 13 -13", f"/Scale {scale}")), [point])
 
@@ -306,7 +309,8 @@ class Levels(unittest.TestCase):
 
     def test_costs(self):
         # Each shape costs 1, and its list of parts 1; the path with its point 4.
-        for levels, cost in ((0, 1 + 4 + 1 + 1), (6, 12 + 1 + 4 + 1 + 1), (7, 14 + 1 + 4 + 1 + 1), (8, 16 + 1), (9, 16 + 1)):
+        for levels, cost in ((0, 1 + 4 + 1 + 1), (6, 12 + 1 + 4 + 1 + 1), (7, 14 + 1 + 4 + 1 + 1), (8, 16 + 1),
+                             (9, 16 + 1)):
             body, objects = self.nested(levels)
             check_costs(self, book_with(drawing(body), objects=objects), BASE + 1 + cost)
 

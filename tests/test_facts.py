@@ -9,7 +9,8 @@ from support import changed, check_copies, drawn, drawn_bytes
 
 ACT_KINDS = ("open", "file", "link", "form", "fetch", "script")
 NAMES = ("name", "size", "kind", "kinds", "pages", "acts", "depth")
-FACTS = {"name": (97, 46), "size": 10, "kind": "folio", "kinds": ("folio", "crate"), "pages": 2, "acts": ("open",), "depth": 1}
+FACTS = {"name": (97, 46), "size": 10, "kind": "folio", "kinds": ("folio", "crate"), "pages": 2, "acts": ("open",),
+         "depth": 1}
 
 
 class Facts(unittest.TestCase):
@@ -86,13 +87,15 @@ class Sound(unittest.TestCase):
 
     def test_no_tuples_of_seven(self):
         facts = self.facts()
-        for value in (None, 5, "facts", [], (), {}, list(facts), facts[:6], facts + (0,), (facts,), facts[::-1], True, b"facts"):
+        for value in (None, 5, "facts", [], (), {}, list(facts), facts[:6], facts + (0,), (facts,), facts[::-1], True,
+                      b"facts"):
             self.assertIs(is_sound(value), False)
         self.assertIs(is_sound(dict(enumerate(facts))), False)
 
     def test_names(self):
         self.check(True, "name", (), (0,), (255,), (97,) * 1000)
-        self.check(False, "name", [], [97], "a", b"a", None, 5, (256,), (-1,), (True,), ("a",), (97, None), ((97,),), (97, [98]))
+        self.check(False, "name", [], [97], "a", b"a", None, 5, (256,), (-1,), (True,), ("a",), (97, None), ((97,),),
+                   (97, [98]))
 
     def test_sizes(self):
         self.check(True, "size", 0, 1, 2147483647)
@@ -108,12 +111,13 @@ class Sound(unittest.TestCase):
 
     def test_acts(self):
         self.check(True, "acts", (), ACT_KINDS, ACT_KINDS[::-1], ("open",) * 2000, *[(kind,) for kind in ACT_KINDS])
-        self.check(False, "acts", [], ["open"], "open", None, 5, ("opens",), ("",), ("Open",), (None,), (5,), (("open",),),
-                   ("open", "folio"), (b"open",), ("open", []), {"open": 1})
+        self.check(False, "acts", [], ["open"], "open", None, 5, ("opens",), ("",), ("Open",), (None,), (5,),
+                   (("open",),), ("open", "folio"), (b"open",), ("open", []), {"open": 1})
 
     def test_kinds(self):
-        self.check(False, "kinds", [], ["folio"], "folio", None, 5, ("folios",), ("",), (None,), (5,), (("folio",),), (b"folio",),
-                   ("folio", []), ("crate", "folio"), ("folio", "folio"), ("folio", "crate", "crate"), {"folio": 1})
+        self.check(False, "kinds", [], ["folio"], "folio", None, 5, ("folios",), ("",), (None,), (5,), (("folio",),),
+                   (b"folio",), ("folio", []), ("crate", "folio"), ("folio", "folio"), ("folio", "crate", "crate"),
+                   {"folio": 1})
 
     def test_every_row_of_kinds(self):
         words = KINDS + ("",)

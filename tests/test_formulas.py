@@ -34,7 +34,8 @@ class Reading(unittest.TestCase):
 
 class Parts(Reading):
     def test_numbers(self):
-        for data, found in (("0", 0), ("7", 7), ("123456789012345", 123456789012345), ("999999999999999", 10 ** 15 - 1)):
+        for data, found in (("0", 0), ("7", 7), ("123456789012345", 123456789012345),
+                            ("999999999999999", 10 ** 15 - 1)):
             self.check(data, ("number", found))
         self.check("007", ("number", 7))
         self.check("0" * 15, ("number", 0))
@@ -49,7 +50,8 @@ class Parts(Reading):
         self.check("A1", A1)
         self.check("P32", P32)
         self.check("B2", B2)
-        self.check_none("A0", "A33", "Q1", "a1", "A01", "AA1", "A1A", "A", "A1B2", "$A$1", "A100", "A1 B2", "A 1", "A1.")
+        self.check_none("A0", "A33", "Q1", "a1", "A01", "AA1", "A1A", "A", "A1B2", "$A$1", "A100", "A1 B2", "A 1",
+                        "A1.")
 
     def test_words(self):
         self.check("SUM(1)", call("SUM", ONE))
@@ -58,7 +60,8 @@ class Parts(Reading):
 
     def test_rows_of_letters_and_digits(self):
         # Each row is one part as far as it goes.
-        self.check_none("A1SUM(1)", "1A1", "SUMA1", "A1 1", "1 1", "A1A1", "1SUM", "LINKFETCH(\"a\")", "aA1", "A1a", "1a")
+        self.check_none("A1SUM(1)", "1A1", "SUMA1", "A1 1", "1 1", "A1A1", "1SUM", "LINKFETCH(\"a\")", "aA1", "A1a",
+                        "1a")
 
     def test_signs(self):
         for sign in "+-*/" :
@@ -66,7 +69,8 @@ class Parts(Reading):
         for sign in COMPARISONS:
             self.check(f"1{sign}2", pair(sign, ONE, TWO))
         self.check_none("1==2", "1=<2", "1=>2", "1><2", "1<>=2", "1<<2", "1< =2", "1> =2", "1< >2", "1!2", "1&2", "1^2",
-                        "1;2", "{1}", "[1]", "1\t+2", "1\n+2", "1\r", "\0", "1,2", "1:2", "A1:B2", "?", "1@", "#", "%", "$1")
+                        "1;2", "{1}", "[1]", "1\t+2", "1\n+2", "1\r", "\0", "1,2", "1:2", "A1:B2", "?", "1@", "#", "%",
+                        "$1")
 
     def test_the_longest_sign(self):
         self.check("1<=2", pair("<=", ONE, TWO))
@@ -83,7 +87,8 @@ class Parts(Reading):
         self.check_none("1 2", "12 34", "A 1", "SU M(1)", "< =", " ", "   ")
 
     def test_nothing(self):
-        self.check_none("", " ", "+", "()", "(", ")", ",", ":", "=", "-", "*1", "/1", "1+", "1*", "1-", "1/", "1=", "=1", "<1", "+1")
+        self.check_none("", " ", "+", "()", "(", ")", ",", ":", "=", "-", "*1", "/1", "1+", "1*", "1-", "1/", "1=",
+                        "=1", "<1", "+1")
 
 
 class Trees(Reading):
@@ -155,16 +160,17 @@ class Calls(Reading):
     def test_ranges(self):
         for word in RANGE_WORDS:
             self.check(f"{word}(A1:B2)", call(word, ("range", (0, 0), (1, 1))))
-            self.check(f"{word}(B2:A1,1,P32:P32)", call(word, ("range", (1, 1), (0, 0)), ONE, ("range", (15, 31), (15, 31))))
+            tree = call(word, ("range", (1, 1), (0, 0)), ONE, ("range", (15, 31), (15, 31)))
+            self.check(f"{word}(B2:A1,1,P32:P32)", tree)
             self.check(f"{word}(A1,B2)", call(word, A1, B2))
         for word in ("LINK", "FETCH"):
             self.check_none(f"{word}(A1:B2)")
         self.check_none("IF(A1:B2,1,2)", "IF(1,A1:B2,2)", "IF(1,2,A1:B2)")
 
     def test_no_ranges(self):
-        self.check_none("A1:B2", "SUM(A1:B2+1)", "SUM(1+A1:B2)", "SUM((A1:B2))", "SUM(-A1:B2)", "SUM(A1:B2:A1)", "SUM(A1:)",
-                        "SUM(:A1)", "SUM(1:2)", "SUM(A1:2)", "SUM(A1:B2<1)", "SUM(A1:(B2))", "SUM((A1):B2)", "SUM(A1::B2)",
-                        "SUM(A1:B)", "SUM(A1:SUM(1))", "SUM(A1:B2", "SUM(A1:B2 A1)")
+        self.check_none("A1:B2", "SUM(A1:B2+1)", "SUM(1+A1:B2)", "SUM((A1:B2))", "SUM(-A1:B2)", "SUM(A1:B2:A1)",
+                        "SUM(A1:)", "SUM(:A1)", "SUM(1:2)", "SUM(A1:2)", "SUM(A1:B2<1)", "SUM(A1:(B2))", "SUM((A1):B2)",
+                        "SUM(A1::B2)", "SUM(A1:B)", "SUM(A1:SUM(1))", "SUM(A1:B2", "SUM(A1:B2 A1)")
 
     def test_link_and_fetch(self):
         for word in ("LINK", "FETCH"):
@@ -225,7 +231,8 @@ class Depths(Reading):
 
     def test_long_texts(self):
         # 200 bytes of any kind end, with or without a tree.
-        for data in ("(" * 200, "-" * 200, "SUM(" * 50, "1+" * 100, '"' * 200, "1" * 200, "A" * 200, "((1)" * 50, "1<" * 100):
+        for data in ("(" * 200, "-" * 200, "SUM(" * 50, "1+" * 100, '"' * 200, "1" * 200, "A" * 200, "((1)" * 50,
+                     "1<" * 100):
             self.check_none(data)
         self.check('"' + "a" * 198 + '"', text("a" * 198))
 
@@ -298,10 +305,12 @@ class Writing(unittest.TestCase):
         self.check(("minus", minus), "--1")
 
     def test_without_spaces(self):
-        self.assertEqual(write_formula(tree_of(" ( 1 + ( 2 ) ) * SUM ( A1 : B2 , ( 3 ) ) ")), list(b"(1+2)*SUM(A1:B2,3)"))
+        tree = tree_of(" ( 1 + ( 2 ) ) * SUM ( A1 : B2 , ( 3 ) ) ")
+        self.assertEqual(write_formula(tree), list(b"(1+2)*SUM(A1:B2,3)"))
 
     def drawn_tree(self, source, room):
-        kind = source.choice(("number", "text", "place") if room <= 1 else ("number", "place", "minus", "pair", "pair", "call"))
+        kinds = ("number", "place", "minus", "pair", "pair", "call")
+        kind = source.choice(("number", "text", "place") if room <= 1 else kinds)
         if kind == "number":
             return "number", source.choice((0, 1, 10 ** 15 - 1, source.randint(0, 99)))
         if kind == "text":
@@ -409,8 +418,8 @@ class Used(unittest.TestCase):
 
 class Counts(unittest.TestCase):
     def test_counts(self):
-        for data, count in (("1", 1), ("A1", 1), ('"a"', 1), ("-1", 2), ("--1", 3), ("1+2", 3), ("1+2+3", 5), ("(1)", 1),
-                            ("SUM(1)", 2), ("SUM(A1:P32)", 2), ("SUM(A1:B2,1,2+3)", 6), ("IF(1,2,3)", 4),
+        for data, count in (("1", 1), ("A1", 1), ('"a"', 1), ("-1", 2), ("--1", 3), ("1+2", 3), ("1+2+3", 5),
+                            ("(1)", 1), ("SUM(1)", 2), ("SUM(A1:P32)", 2), ("SUM(A1:B2,1,2+3)", 6), ("IF(1,2,3)", 4),
                             ('LINK("a")', 2), ("-(1<2)", 4)):
             self.assertEqual(count_trees(tree_of(data)), count, data)
 

@@ -21,7 +21,8 @@ class Drawn(unittest.TestCase):
             most = 20000
             found = lay_out(book, most)
             self.assertEqual(found, plain_lay_out(book, most))
-            kinds |= {kind for page in found[0] for kind, _ in page[4]} | {mark[0] for page in found[0] for mark in page[3]}
+            for _, _, _, marks, acts in found[0]:
+                kinds |= {kind for kind, _ in acts} | {mark[0] for mark in marks}
             for _ in range(4):
                 work = source.randint(0, most - found[1] + 1)
                 self.assertEqual(lay_out(book, work), plain_lay_out(book, work))

@@ -39,7 +39,8 @@ class Pages(unittest.TestCase):
             self.assertEqual(lay_out(book(f"#1 <</Pages {value}>>"), 7), ([], 7))
 
     def test_items_that_are_no_dicts(self):
-        found = pages_book("none", "<</Width 1>>", "5", "[<<>>]", "<</Width 2>>{1}a{}", "@99", "@2", objects="#2 <</Width 3>>")
+        found = pages_book("none", "<</Width 1>>", "5", "[<<>>]", "<</Width 2>>{1}a{}", "@99", "@2",
+                           objects="#2 <</Width 3>>")
         self.assertEqual([page[0] for page in pages_of(found)], [1, 3])
         check_costs(self, found, 8, 1)
 
@@ -116,7 +117,8 @@ class Acts(unittest.TestCase):
         for value, data in self.data:
             self.assertEqual(acts_of("", root=f"/Files [{value}]", objects=self.objects), [act("file", data)])
         self.assertEqual(acts_of("", root="/Files [none @99]"), [act("file"), act("file")])
-        self.assertEqual(acts_of("", root="/Files [(b) (a) (b)]"), [act("file", "b"), act("file", "a"), act("file", "b")])
+        self.assertEqual(acts_of("", root="/Files [(b) (a) (b)]"),
+                         [act("file", "b"), act("file", "a"), act("file", "b")])
 
     def test_files_that_are_no_list(self):
         for value in OTHERS + ("(a)", "/a"):
@@ -223,7 +225,8 @@ class Keys(unittest.TestCase):
             self.assertEqual(marks_of(body, objects=objects), [sealed_mark(0, 0, width)])
 
     def test_rings(self):
-        body = "<</Kind /Sealed /Height 1 /Width @2>> @2 <</Kind @3>> <</Kind /Box /Blocks @4>> <</Kind /Box /Blocks [@2]>>"
+        body = "<</Kind /Sealed /Height 1 /Width @2>> @2 <</Kind @3>> <</Kind /Box /Blocks @4>>"
+        body += "<</Kind /Box /Blocks [@2]>>"
         self.assertEqual(marks_of(body, objects="#2 @2 #3 @4 #4 @3"), [sealed_mark(0, 0, 8)])
 
     def test_a_list_costs_as_soon_as_it_is_reached(self):

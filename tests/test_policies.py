@@ -33,28 +33,33 @@ class Forms(unittest.TestCase):
         for count in range(7):
             self.check(count <= 4, (rule,) * count)
         self.check(True, *[((verdict, ()),) for verdict in VERDICTS])
-        self.check(False, (("", ()),), (("Drop", ()),), (("keep", ()),), ((None, ()),), ((5, ()),), ((b"drop", ()),), ((["drop"], ()),))
-        self.check(False, (("drop",),), (("drop", (), ()),), (["drop", ()],), ("drop",), (None,), (5,), ((),), (("drop", []),),
-                   (("drop", None),), (("drop", {}),), (("drop", "is"),))
+        self.check(False, (("", ()),), (("Drop", ()),), (("keep", ()),), ((None, ()),), ((5, ()),), ((b"drop", ()),),
+                   ((["drop"], ()),))
+        self.check(False, (("drop",),), (("drop", (), ()),), (["drop", ()],), ("drop",), (None,), (5,), ((),),
+                   (("drop", []),), (("drop", None),), (("drop", {}),), (("drop", "is"),))
 
     def test_terms(self):
         term = (False, ("is", "folio"))
         for count in range(6):
             self.check(count <= 3, (("drop", (term,) * count),))
-        for other in (None, 5, "is", (), (False,), (False, ("is", "folio"), 1), [False, ("is", "folio")], (0, ("is", "folio")),
-                      (1, ("is", "folio")), (None, ("is", "folio")), ("", ("is", "folio")), ("not", ("is", "folio")),
-                      (False, None), (False, "is"), (False, ["is", "folio"]), (False, ()), (False, 5), ("is", "folio")):
+        for other in (None, 5, "is", (), (False,), (False, ("is", "folio"), 1), [False, ("is", "folio")],
+                      (0, ("is", "folio")), (1, ("is", "folio")), (None, ("is", "folio")), ("", ("is", "folio")),
+                      ("not", ("is", "folio")), (False, None), (False, "is"), (False, ["is", "folio"]), (False, ()),
+                      (False, 5), ("is", "folio")):
             self.check(False, (("drop", (other,)),), (("drop", (term, other)),))
 
     def test_numbers(self):
         for word, most in GREATEST.items():
             for sign in SIGNS:
                 self.check_bodies(True, *[(word, sign, number) for number in (0, 1, most - 1, most)])
-                self.check_bodies(False, *[(word, sign, number) for number in (-1, most + 1, True, False, None, "5", (5,), [5])])
+                self.check_bodies(False,
+                                  *[(word, sign,
+                                     number) for number in (-1, most + 1, True, False, None, "5", (5,), [5])])
             for sign in ("", "==", "<>", "!=", "=>", "=<", " <", None, 5, ("<",), ["<"]):
                 self.check_bodies(False, (word, sign, 5))
             self.check_bodies(False, (word, "<"), (word, 5), (word,), (word, "<", 5, 5), [word, "<", 5])
-        self.check_bodies(False, ("sizes", "<", 5), ("", "<", 5), (None, "<", 5), (5, "<", 5), ("is", "<", 5), (["size"], "<", 5))
+        self.check_bodies(False, ("sizes", "<", 5), ("", "<", 5), (None, "<", 5), (5, "<", 5), ("is", "<", 5),
+                          (["size"], "<", 5))
 
     def test_kinds(self):
         for kind in KINDS:
@@ -63,24 +68,30 @@ class Forms(unittest.TestCase):
         # The empty string is no kind that a list could be.
         self.check_bodies(False, ("could", ""))
         for word in ("is", "could"):
-            self.check_bodies(False, *[(word, kind) for kind in ("none", "Folio", "open", None, 5, ("folio",), ["folio"], b"folio")])
+            self.check_bodies(False,
+                              *[(word,
+                                 kind) for kind in ("none", "Folio", "open", None, 5, ("folio",), ["folio"], b"folio")])
             self.check_bodies(False, (word,), (word, "folio", "crate"), [word, "folio"])
 
     def test_acts(self):
         for kind in ACT_KINDS:
             self.check_bodies(True, ("act", kind))
-        self.check_bodies(False, *[("act", kind) for kind in ("", "acts", "folio", "Open", None, 5, ("open",), ["open"], b"open")])
+        self.check_bodies(False,
+                          *[("act",
+                             kind) for kind in ("", "acts", "folio", "Open", None, 5, ("open",), ["open"], b"open")])
         self.check_bodies(False, ("act",), ("act", "open", "file"), ("actor", "open"))
 
     def test_patterns(self):
-        self.check_bodies(True, ("name", ()), ("name", (42,)), ("name", (0, 255)), ("name", (97,) * 20), ("name", (42,) * 20))
+        self.check_bodies(True, ("name", ()), ("name", (42,)), ("name", (0, 255)), ("name", (97,) * 20),
+                          ("name", (42,) * 20))
         self.check_bodies(False, *[("name", pattern) for pattern in (
             (97,) * 21, (42,) * 21, [], [97], "a", b"a", None, 5, (256,), (-1,), (True,), ("a",), (97, None), ((97,),),
         )])
         self.check_bodies(False, ("name",), ("name", (), ()), ("names", ()))
 
     def test_values_of_every_kind(self):
-        self.check(False, None, 5, True, "drop", b"drop", [], {}, [("drop", ())], ("drop", ()), (("drop", ()), None), 1.5, object())
+        self.check(False, None, 5, True, "drop", b"drop", [], {}, [("drop", ())], ("drop", ()), (("drop", ()), None),
+                   1.5, object())
         self.check(True, ())
 
     def test_copies(self):
@@ -152,13 +163,15 @@ class Terms(unittest.TestCase):
 
 class Matching(unittest.TestCase):
     def check(self, pattern, name, is_matched):
-        self.assertIs(matches(tuple(pattern.encode("latin-1")), tuple(name.encode("latin-1"))), is_matched, (pattern, name))
+        self.assertIs(matches(tuple(pattern.encode("latin-1")), tuple(name.encode("latin-1"))), is_matched,
+                      (pattern, name))
 
     def test_without_stars(self):
-        for pattern, name in (("", ""), ("a", "a"), ("abc", "abc"), ("a.b", "a.b"), ("\0\xff", "\0\xff"), ("?", "?"), ("[a]", "[a]")):
+        for pattern, name in (("", ""), ("a", "a"), ("abc", "abc"), ("a.b", "a.b"), ("\0\xff", "\0\xff"), ("?", "?"),
+                              ("[a]", "[a]")):
             self.check(pattern, name, True)
-        for pattern, name in (("", "a"), ("a", ""), ("a", "b"), ("a", "aa"), ("aa", "a"), ("abc", "abd"), ("a", "A"), ("?", "a"),
-                              (".", "a"), ("[a]", "a")):
+        for pattern, name in (("", "a"), ("a", ""), ("a", "b"), ("a", "aa"), ("aa", "a"), ("abc", "abd"), ("a", "A"),
+                              ("?", "a"), (".", "a"), ("[a]", "a")):
             self.check(pattern, name, False)
 
     def test_stars_alone(self):
@@ -167,12 +180,14 @@ class Matching(unittest.TestCase):
                 self.check(pattern, name, True)
 
     def test_stars(self):
-        for pattern, name in (("a*", "a"), ("a*", "abc"), ("*a", "a"), ("*a", "bca"), ("*a", "aaa"), ("a*b", "ab"), ("a*b", "axxb"),
-                              ("a*b", "abab"), ("*a*", "a"), ("*a*", "xax"), ("a**b", "ab"), ("a**b", "axb"), ("*a*b*", "xaxbx"),
-                              ("a*a", "aa"), ("*ab", "aab"), ("*aab", "aaaab"), ("a*b*c", "abbcbc"), ("*.txt", "a.txt.txt")):
+        for pattern, name in (("a*", "a"), ("a*", "abc"), ("*a", "a"), ("*a", "bca"), ("*a", "aaa"), ("a*b", "ab"),
+                              ("a*b", "axxb"), ("a*b", "abab"), ("*a*", "a"), ("*a*", "xax"), ("a**b", "ab"),
+                              ("a**b", "axb"), ("*a*b*", "xaxbx"), ("a*a", "aa"), ("*ab", "aab"), ("*aab", "aaaab"),
+                              ("a*b*c", "abbcbc"), ("*.txt", "a.txt.txt")):
             self.check(pattern, name, True)
-        for pattern, name in (("a*", ""), ("a*", "ba"), ("*a", ""), ("*a", "ab"), ("a*a", "a"), ("a*b", "a"), ("a*b", "abc"),
-                              ("*a*", "bcd"), ("a**b", "a"), ("*a*b*", "ba"), ("a*b*c", "acb"), ("*ab", "aba"), ("*.txt", "txt")):
+        for pattern, name in (("a*", ""), ("a*", "ba"), ("*a", ""), ("*a", "ab"), ("a*a", "a"), ("a*b", "a"),
+                              ("a*b", "abc"), ("*a*", "bcd"), ("a**b", "a"), ("*a*b*", "ba"), ("a*b*c", "acb"),
+                              ("*ab", "aba"), ("*.txt", "txt")):
             self.check(pattern, name, False)
 
     def test_a_star_in_a_name(self):
@@ -213,9 +228,10 @@ class Judging(unittest.TestCase):
             ("hold", ((False, ("is", "folio")),)), ("drop", ()),
         )
         for found, expected in (
-            (facts(acts=("script",), depth=1), ("drop", 0)), (facts(acts=("script",)), ("clean", 1)), (facts(depth=1), ("clean", 1)),
-            (facts(acts=("link",) * 3, kinds=("folio",)), ("hold", 2)), (facts(acts=("link",) * 3), ("drop", 3)),
-            (facts(acts=("link",) * 3, depth=2), ("drop", 3)), (facts(acts=("script",) * 3, depth=2), ("drop", 0)),
+            (facts(acts=("script",), depth=1), ("drop", 0)), (facts(acts=("script",)), ("clean", 1)),
+            (facts(depth=1), ("clean", 1)), (facts(acts=("link",) * 3, kinds=("folio",)), ("hold", 2)),
+            (facts(acts=("link",) * 3), ("drop", 3)), (facts(acts=("link",) * 3, depth=2), ("drop", 3)),
+            (facts(acts=("script",) * 3, depth=2), ("drop", 0)),
         ):
             self.assertEqual(judge(policy, found), expected)
 

@@ -21,7 +21,8 @@ class Writing(unittest.TestCase):
     def test_rules(self):
         for verdict in VERDICTS:
             self.check(((verdict, ()),), f"{verdict}\n")
-        self.check((("drop", ()), ("clean", (FOLIO,)), ("hold", ()), ("drop", ())), "drop\nclean if is folio\nhold\ndrop\n")
+        self.check((("drop", ()), ("clean", (FOLIO,)), ("hold", ()), ("drop", ())),
+                   "drop\nclean if is folio\nhold\ndrop\n")
 
     def test_terms(self):
         self.check((("drop", (FOLIO, (True, ("act", "open")), (True, ("could", "crate")))),),
@@ -56,8 +57,9 @@ class Writing(unittest.TestCase):
         self.body(("name", tuple(b"#")), 'name "#"')
 
     def test_no_policies(self):
-        for value in (None, 5, [], "drop", (("drop",),), (("keep", ()),), (("drop", ()),) * 5, (("drop", (FOLIO,) * 4),),
-                      (("drop", ((0, ("is", "folio")),)),), (("drop", ((False, ("size", "<", -1)),)),)):
+        for value in (None, 5, [], "drop", (("drop",),), (("keep", ()),), (("drop", ()),) * 5,
+                      (("drop", (FOLIO,) * 4),), (("drop", ((0, ("is", "folio")),)),),
+                      (("drop", ((False, ("size", "<", -1)),)),)):
             with self.assertRaises(Malformed):
                 write_policy(value)
 
@@ -74,7 +76,9 @@ class Writing(unittest.TestCase):
             for line in text.splitlines():
                 words = line.split(" ")
                 loose += source.choice(("", "\n", "  \n", "# drop if\n", " #\n", "#drop\n"))
-                loose += source.choice(("", "  ")) + source.choice((" ", "   ")).join(words) + source.choice(("", " ")) + "\n"
+                loose += source.choice(("",
+                                        "  ")) + source.choice((" ",
+                                                                "   ")).join(words) + source.choice(("", " ")) + "\n"
             self.assertEqual(read_policy(loose), policy)
             self.assertEqual(read_policy(loose[:-1]), policy)
 
@@ -151,8 +155,8 @@ class Words(Reading):
     def test_each_word_exchanged(self):
         words = self.line.split()
         rule = read_policy(self.line)
-        others = ("drop", "hold", "if", "and", "not", "is", "could", "folio", "crate", "none", "size", "depth", "act", "link", "<",
-                  ">=", "10", "11", "name", '"a"', "or", "If", "x", "-", '"')
+        others = ("drop", "hold", "if", "and", "not", "is", "could", "folio", "crate", "none", "size", "depth", "act",
+                  "link", "<", ">=", "10", "11", "name", '"a"', "or", "If", "x", "-", '"')
         found = 0
         for at in range(len(words)):
             for other in others:
@@ -178,13 +182,15 @@ class Words(Reading):
                 self.check_malformed(" ".join(words[:count]))
 
     def test_verdicts(self):
-        self.check_malformed("Drop", "DROP", "keep", "if is folio", "is folio", "drops", '"drop"', "not", "and", "none", "dropif", "-")
+        self.check_malformed("Drop", "DROP", "keep", "if is folio", "is folio", "drops", '"drop"', "not", "and", "none",
+                             "dropif", "-")
 
     def test_words_between(self):
-        self.check_malformed("drop is folio", "drop and is folio", "drop if", "drop if if is folio", "drop if is folio is crate",
-                             "drop if is folio if is crate", "drop if is folio and", "drop if is folio and and is crate",
-                             "drop if and is folio", "drop If is folio", "drop if is folio or is crate", "drop drop",
-                             "drop clean", "drop if is folio drop", "drop if is folio, is crate", "drop if is folio &")
+        self.check_malformed("drop is folio", "drop and is folio", "drop if", "drop if if is folio",
+                             "drop if is folio is crate", "drop if is folio if is crate", "drop if is folio and",
+                             "drop if is folio and and is crate", "drop if and is folio", "drop If is folio",
+                             "drop if is folio or is crate", "drop drop", "drop clean", "drop if is folio drop",
+                             "drop if is folio, is crate", "drop if is folio &")
 
     def test_not(self):
         self.check("drop if not is folio", ("drop", ((True, ("is", "folio")),)))
@@ -193,27 +199,30 @@ class Words(Reading):
 
     def test_kinds(self):
         self.check("drop if is none", ("drop", ((False, ("is", "")),)))
-        self.check_malformed("drop if is", "drop if could", "drop if act", "drop if is Folio", "drop if is open", "drop if act folio",
-                             'drop if is ""', 'drop if is "folio"', "drop if could none", "drop if act none", 'drop if could ""',
-                             "drop if is folios", "drop if is folio crate", "drop if are folio", "drop if kind folio")
+        self.check_malformed("drop if is", "drop if could", "drop if act", "drop if is Folio", "drop if is open",
+                             "drop if act folio", 'drop if is ""', 'drop if is "folio"', "drop if could none",
+                             "drop if act none", 'drop if could ""', "drop if is folios", "drop if is folio crate",
+                             "drop if are folio", "drop if kind folio")
 
     def test_signs(self):
         for sign in ("==", "<>", "!=", "=>", "=<", "<<", "is", "", "\"<\""):
             self.check_malformed(f"drop if size {sign} 10")
-        self.check_malformed("drop if size<10", "drop if size <10", "drop if size< 10", "drop if 10 > size", "drop if size < size")
+        self.check_malformed("drop if size<10", "drop if size <10", "drop if size< 10", "drop if 10 > size",
+                             "drop if size < size")
 
     def test_numbers(self):
         for word, most in GREATEST.items():
             for number in (0, 1, most):
                 self.check(f"drop if {word} < {number}", ("drop", ((False, (word, "<", number)),)))
-            for number in (most + 1, -1, "-0", "+1", "01", "00", "1.0", "1e1", "0x1", "", "x", '"1"', 10 ** 17, 10 ** 18, 10 ** 30, "1,0"):
+            for number in (most + 1, -1, "-0", "+1", "01", "00", "1.0", "1e1", "0x1", "", "x", '"1"', 10 ** 17,
+                           10 ** 18, 10 ** 30, "1,0"):
                 self.check_malformed(f"drop if {word} < {number}")
 
     def test_patterns(self):
         for pattern in ((), (97,), (42,) * 20, (32,) * 20, tuple(range(20)), tuple(range(236, 256))):
             self.check(f"drop if name {write_word(list(pattern))}", ("drop", ((False, ("name", pattern)),)))
-        for word in ("a", '"', '"a', 'a"', "'a'", '"a"b"', '"\\a"', '"\\2"', '"\\61"', '"\\0A"', '"\\GG"', '"a b"', '"\\\\"', '""""',
-                     '"a""b"', '"a"x', "\\20"):
+        for word in ("a", '"', '"a', 'a"', "'a'", '"a"b"', '"\\a"', '"\\2"', '"\\61"', '"\\0A"', '"\\GG"', '"a b"',
+                     '"\\\\"', '""""', '"a""b"', '"a"x', "\\20"):
             self.check_malformed(f"drop if name {word}")
 
     def test_patterns_that_are_too_long(self):
@@ -221,8 +230,8 @@ class Words(Reading):
             self.check_malformed(f'drop if name "{"a" * count}"', 'drop if name "' + "\\20" * count + '"')
 
     def test_other_words(self):
-        self.check_malformed("drop if foo folio", "drop if foo < 10", "drop if", "drop if size", "drop if size <", "drop if name",
-                             "drop if depth 1", "drop if pages >", "drop if SIZE < 10")
+        self.check_malformed("drop if foo folio", "drop if foo < 10", "drop if", "drop if size", "drop if size <",
+                             "drop if name", "drop if depth 1", "drop if pages >", "drop if SIZE < 10")
 
 
 class Counts(Reading):
@@ -246,7 +255,8 @@ class Counts(Reading):
 
     def test_lines_that_are_no_rules_before_and_behind(self):
         # Whichever line comes first decides.
-        self.check_malformed("x\n" + self.terms(4), "x\n" + "drop\n" * 5, "drop\n" * 4 + "x\n", "drop\n" * 4 + "x\ndrop\n")
+        self.check_malformed("x\n" + self.terms(4), "x\n" + "drop\n" * 5, "drop\n" * 4 + "x\n",
+                             "drop\n" * 4 + "x\ndrop\n")
         self.check_too_much(self.terms(4) + "\nx", "drop\n" * 5 + "x", "drop\n" * 4 + self.terms(4) + "\nx")
         self.check_too_much("drop\n" + self.terms(4) + "\n" + "drop\n" * 4)
         # A 5th line that is no rule, and one with too many terms that is none.

@@ -26,13 +26,16 @@ class Values(unittest.TestCase):
     def test_in_order(self):
         sheet = sheet_of(B2="=A1", A1="5", P32="x", B1="=")
         found, _ = sheet_values(sheet, ENOUGH)
-        self.assertEqual(found, (((0, 0), number(5)), ((1, 0), error("form")), ((1, 1), number(5)), ((15, 31), text("x"))))
+        self.assertEqual(found,
+                         (((0, 0), number(5)), ((1, 0), error("form")), ((1, 1), number(5)), ((15, 31), text("x"))))
 
     def test_plain_contents(self):
-        self.check(dict(A1="5", B1="-0", C1="abc", D1="="), A1=number(5), B1=text("-0"), C1=text("abc"), D1=error("form"))
+        self.check(dict(A1="5", B1="-0", C1="abc", D1="="), A1=number(5), B1=text("-0"), C1=text("abc"),
+                   D1=error("form"))
 
     def test_formulas(self):
-        self.check(dict(A1="5", A2="=A1+1", A3="=A2*A1", A4="=Z"), A1=number(5), A2=number(6), A3=number(30), A4=error("form"))
+        self.check(dict(A1="5", A2="=A1+1", A3="=A2*A1", A4="=Z"), A1=number(5), A2=number(6), A3=number(30),
+                   A4=error("form"))
         self.check(dict(A1="=B1", B1="=C1", C1="=D1", D1="7"), A1=number(7), B1=number(7), C1=number(7), D1=number(7))
         self.check(dict(A1="=P32"), A1=NONE)
         self.check(dict(A1="=P32", B1="=A1+1", C1='=A1="x"', D1="=JOIN(A1:C1)"),

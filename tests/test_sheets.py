@@ -35,9 +35,10 @@ def rows(grid):
 
 class Words(unittest.TestCase):
     def test_words(self):
-        for value, found in ((number(0), b"0"), (number(-15), b"-15"), (number(10 ** 15), b"1000000000000000"), (NONE, b""),
-                             (text("ab \xff"), b"ab \xff"), (text(""), b""), (error("form"), b"#form"), (error("loop"), b"#loop"),
-                             (error("kind"), b"#kind"), (error("zero"), b"#zero"), (error("size"), b"#size")):
+        for value, found in ((number(0), b"0"), (number(-15), b"-15"), (number(10 ** 15), b"1000000000000000"),
+                             (NONE, b""), (text("ab \xff"), b"ab \xff"), (text(""), b""), (error("form"), b"#form"),
+                             (error("loop"), b"#loop"), (error("kind"), b"#kind"), (error("zero"), b"#zero"),
+                             (error("size"), b"#size")):
             self.assertEqual(words_of(value), list(found))
 
     def test_copies(self):
@@ -104,7 +105,8 @@ class Runes(unittest.TestCase):
         self.assertEqual(rows(pages_of(A1="! \"")[0]), ["#"])
 
     def test_numbers(self):
-        for content, shown in (("7", "7"), ("12345", "12"), ("-5", "-5"), ("=3+4", "7"), ("=0-12", "-1"), ("=999999999999999+1", "10")):
+        for content, shown in (("7", "7"), ("12345", "12"), ("-5", "-5"), ("=3+4", "7"), ("=0-12", "-1"),
+                               ("=999999999999999+1", "10")):
             self.assertEqual(pages_of(A1=content), pages_of(A1=shown + " "))
 
     def test_errors(self):
@@ -221,7 +223,8 @@ class Acts(unittest.TestCase):
 
     def test_within_other_calls(self):
         self.check(4, ("link", (97,)), ("fetch", (98,)), ("link", (99,)), A1='=JOIN(LINK("a"),FETCH("b"))=-LINK("c")')
-        self.check(4, ("link", (98,)), ("link", (97,)), ("fetch", (99,)), A1='=IF(LINK("b")="x",SUM(1,(LINK("a"))),FETCH("c"))')
+        self.check(4, ("link", (98,)), ("link", (97,)), ("fetch", (99,)),
+                   A1='=IF(LINK("b")="x",SUM(1,(LINK("a"))),FETCH("c"))')
 
     def test_the_same_one_twice(self):
         self.check(3, ("link", (97,)), ("link", (97,)), A1='=LINK("a")=LINK("a")')
@@ -235,8 +238,8 @@ class Acts(unittest.TestCase):
         sheet = sheet_of(A1="5", B1='=JOIN(LINK("a"),LINK("b"))', C1="6", D1='=FETCH("c")', E1="7")
         acts = [("link", (97,)), ("link", (98,)), ("fetch", (99,))]
         # 1, then 1 with 2 acts, 1, then 1 with 1 act, 1.
-        for work, count, left in ((0, 0, 0), (1, 0, 0), (2, 0, 0), (3, 1, 0), (4, 2, 0), (5, 2, 0), (6, 2, 0), (7, 3, 0),
-                                  (8, 3, 0), (9, 3, 1), (20, 3, 12)):
+        for work, count, left in ((0, 0, 0), (1, 0, 0), (2, 0, 0), (3, 1, 0), (4, 2, 0), (5, 2, 0), (6, 2, 0),
+                                  (7, 3, 0), (8, 3, 0), (9, 3, 1), (20, 3, 12)):
             self.assertEqual(sheet_acts(sheet, work), (acts[:count], left))
 
     def test_copies(self):

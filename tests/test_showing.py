@@ -226,8 +226,9 @@ class Folios(Looking):
         # Two cells, two marks that cost 1 + 2 * 4 each, and one cell.
         self.check(data, whole, cost=before + 2 + 9 + 9 + 1)
         for more, pages, left in (
-            (0, [], 0), (1, [(1, 2, [3, 3])], 0), (2, [(1, 2, [3, 3])], 0), (3, [(1, 2, [3, 3])], 0), (10, [(1, 2, [3, 3])], 0),
-            (11, [(1, 2, [8421504, 3])], 0), (19, [(1, 2, [8421504, 3])], 0), (20, whole[:1], 0), (21, whole, 0), (22, whole, 1),
+            (0, [], 0), (1, [(1, 2, [3, 3])], 0), (2, [(1, 2, [3, 3])], 0), (3, [(1, 2, [3, 3])], 0),
+            (10, [(1, 2, [3, 3])], 0), (11, [(1, 2, [8421504, 3])], 0), (19, [(1, 2, [8421504, 3])], 0),
+            (20, whole[:1], 0), (21, whole, 0), (22, whole, 1),
         ):
             self.assertEqual(look_at(data, before + more, 0), (pages, [], 0, left), more)
 

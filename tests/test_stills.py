@@ -65,8 +65,8 @@ class Writing(unittest.TestCase):
     def test_pages_that_are_none(self):
         for page in (
             (1, 1, [-1]), (2, 1, [5, -1]), (1, 1, [16777216]), (1, 1, []), (1, 1, [5, 5]), (0, 1, []), (1, 0, []),
-            (65, 1, [0] * 65), (1, 65, [0] * 65), (1, 1, (5,)), [1, 1, [5]], (1, 1), (1, 1, [5], 0), None, 5, "page", (),
-            (1, 1, [True]), (True, 1, [5]), (1, 1, ["5"]), (1, 1, [None]), (-1, -1, [5]), {}, (1, 1, {0: 5}),
+            (65, 1, [0] * 65), (1, 65, [0] * 65), (1, 1, (5,)), [1, 1, [5]], (1, 1), (1, 1, [5], 0), None, 5, "page",
+            (), (1, 1, [True]), (True, 1, [5]), (1, 1, ["5"]), (1, 1, [None]), (-1, -1, [5]), {}, (1, 1, {0: 5}),
         ):
             for pages in ([page], [(1, 1, [5]), page], [page, (1, 1, [5])]):
                 with self.assertRaises(Malformed):
@@ -102,7 +102,8 @@ class Reading(unittest.TestCase):
             self.check_malformed(ended(text))
 
     def test_other_lists(self):
-        for data in (b"", b"still 1", b"still 1\n", b"still 1\npages 0\n", b"still 1\npages 0\nend \n", b"still 2\n", b"\n", b"end\n"):
+        for data in (b"", b"still 1", b"still 1\n", b"still 1\npages 0\n", b"still 1\npages 0\nend \n", b"still 2\n",
+                     b"\n", b"end\n"):
             self.check_malformed(data)
         self.check_malformed(range(256))
 
@@ -110,9 +111,10 @@ class Reading(unittest.TestCase):
         self.check_texts(
             "", "still 1\n", "still 2\npages 0\n", "still 01\npages 0\n", "Still 1\npages 0\n", "still 1 \npages 0\n",
             "still  1\npages 0\n", " still 1\npages 0\n", "still 1\r\npages 0\n", "still 1\n\npages 0\n", "pages 0\n",
-            "still 1\npages\n", "still 1\npages \n", "still 1\npages 00\n", "still 1\npages -0\n", "still 1\npages  0\n",
-            "still 1\npages 0 \n", "still 1\npages x\n", "still 1\nPages 0\n", "still 1\npage 0\n", "still 1\npages 0 0\n",
-            "still 1\npages 0x\n", "still 1\npages +0\n", "still 1\npages 0\n\n", "still 1\npages 0\npages 0\n",
+            "still 1\npages\n", "still 1\npages \n", "still 1\npages 00\n", "still 1\npages -0\n",
+            "still 1\npages  0\n", "still 1\npages 0 \n", "still 1\npages x\n", "still 1\nPages 0\n",
+            "still 1\npage 0\n", "still 1\npages 0 0\n", "still 1\npages 0x\n", "still 1\npages +0\n",
+            "still 1\npages 0\n\n", "still 1\npages 0\npages 0\n",
         )
 
     def test_other_numbers_of_pages(self):
@@ -135,8 +137,9 @@ class Reading(unittest.TestCase):
             "page 1  1\n1x000005\n", "page 1 1 \n1x000005\n", "page 01 1\n1x000005\n", "page 1 01\n1x000005\n",
             "Page 1 1\n1x000005\n", "page 1 1\n", "page 1 2\n1x000005\n", "page 1 1\n1x000005\n1x000005\n",
             "page 65 1\n65x000005\n", "page 1 65\n" + 65 * "1x000005\n", "page 999999999 1\n999999999x000005\n",
-            "page 1 999999999\n1x000005\n", "page 1 99999999999\n1x000005\n", "page -1 1\n1x000005\n", "page x 1\n1x000005\n",
-            "page 1 1x\n1x000005\n", "page 1\t1\n1x000005\n", "page 1 1\r\n1x000005\n", "1x000005\n", "page 1 1\n\n1x000005\n",
+            "page 1 999999999\n1x000005\n", "page 1 99999999999\n1x000005\n", "page -1 1\n1x000005\n",
+            "page x 1\n1x000005\n", "page 1 1x\n1x000005\n", "page 1\t1\n1x000005\n", "page 1 1\r\n1x000005\n",
+            "1x000005\n", "page 1 1\n\n1x000005\n",
         ):
             self.check_texts(self.page(text))
 
@@ -144,9 +147,9 @@ class Reading(unittest.TestCase):
         for row in (
             "", "1x000005", "3x000005", "1x000005 2x000006", "0x000005 2x000005", "1x000005 1x000005", "2x00005",
             "2x0000005", "2x00000g", "2x00000A", "2X000005", "02x000005", "2 x000005", "2x 000005", " 2x000005",
-            "2x000005 ", "1x000005  1x000006", "2x000005\r", "2y000005", "2000005", "x000005", "2x", "2", "2x000005 0x000006",
-            "-2x000005", "999999999x000005", "9999999999999x000005", "1x000005,1x000006", "2x-00005", "2x+00005", "2x00 005",
-            "1x000005 1x000006 1x000007", "2x0xab", "2x000005x",
+            "2x000005 ", "1x000005  1x000006", "2x000005\r", "2y000005", "2000005", "x000005", "2x", "2",
+            "2x000005 0x000006", "-2x000005", "999999999x000005", "9999999999999x000005", "1x000005,1x000006",
+            "2x-00005", "2x+00005", "2x00 005", "1x000005 1x000006 1x000007", "2x0xab", "2x000005x",
         ):
             self.check_texts(self.page(f"page 2 1\n{row}\n"))
         # These are the right ones.
@@ -158,17 +161,19 @@ class Reading(unittest.TestCase):
         self.check_texts(self.page("page 2 2\n4x000005\n"), self.page("page 2 2\n3x000005\n1x000005\n"))
 
     def test_capital_digits(self):
-        self.check_texts(self.page("page 1 1\n1xABCDEF\n"), self.page("page 1 1\n1xabcdeF\n"), self.page("page 1 1\n1Xabcdef\n"))
+        self.check_texts(self.page("page 1 1\n1xABCDEF\n"), self.page("page 1 1\n1xabcdeF\n"),
+                         self.page("page 1 1\n1Xabcdef\n"))
 
     def test_other_last_lines(self):
         text = "still 1\npages 1\npage 1 1\n1xabcdef\n"
         right = digest(list(text.encode()))
         self.assertTrue(any(sign.isalpha() for sign in right))
         for end in (
-            "", "end\n", "end \n", f"end {right}", f"end {right}\n\n", f"end {right} \n", f"end  {right}\n", f"{right}\n",
-            f"End {right}\n", f"end {right.upper()}\n", f"end {right[1:]}\n", f"end 0{right}\n", f"end 0x{right}\n",
-            f"end {right}\r\n", f"end {right}\nend {right}\n", f"end {right[::-1]}\n", f" end {right}\n", f"end {right}x\n",
-            f"end {digest([])}\n", f"end {digest(list((text + 'end ').encode()))}\n", f"end {right}\n0", f"end {right}\n\0",
+            "", "end\n", "end \n", f"end {right}", f"end {right}\n\n", f"end {right} \n", f"end  {right}\n",
+            f"{right}\n", f"End {right}\n", f"end {right.upper()}\n", f"end {right[1:]}\n", f"end 0{right}\n",
+            f"end 0x{right}\n", f"end {right}\r\n", f"end {right}\nend {right}\n", f"end {right[::-1]}\n",
+            f" end {right}\n", f"end {right}x\n", f"end {digest([])}\n",
+            f"end {digest(list((text + 'end ').encode()))}\n", f"end {right}\n0", f"end {right}\n\0",
             f"end {int(right, 16)}\n",
         ):
             self.check_malformed((text + end).encode())
@@ -210,7 +215,8 @@ class Reading(unittest.TestCase):
         found = 0
         for at in range(len(text) + 1):
             for byte in b"0123459axFA \n-p":
-                for changed in (text[:at] + bytes([byte]) + text[at:], text[:at] + bytes([byte]) + text[at + 1:], text[:at] + text[at + 1:]):
+                for changed in (text[:at] + bytes([byte]) + text[at:], text[:at] + bytes([byte]) + text[at + 1:],
+                                text[:at] + text[at + 1:]):
                     if changed != text:
                         found += self.check_change(data, ended(changed.decode()))
         # Other digits of colours.

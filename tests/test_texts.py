@@ -329,7 +329,8 @@ class Fonts(unittest.TestCase):
         body = words("  ", "/Style /S")
         check_costs(self, book_with(body, root=self.root()), BASE + len(FONT) + 3)
         check_costs(self, book_with(body + body, root=self.root()), BASE + len(FONT) + 3 + 2 + 3)
-        check_costs(self, book_with(body + "<</Kind /Field /Style /S>>", root=self.root()), BASE + len(FONT) + 3 + 2 + 1)
+        check_costs(self, book_with(body + "<</Kind /Field /Style /S>>", root=self.root()),
+                    BASE + len(FONT) + 3 + 2 + 1)
 
     def test_a_font_costs_once_in_all_pages(self):
         page = f"<</Body [{words('', '/Style /S')}]>>"
@@ -361,7 +362,8 @@ class Fonts(unittest.TestCase):
         self.assertEqual([mark[2] for mark in marks], [(((3, 5),),)])
 
     def test_only_texts_and_fields_reach_fonts(self):
-        body = "".join(f"<</Kind /{kind} /Style /S>>" for kind in "Box Table Picture Sealed Script Fetch Drawing".split())
+        kinds = "Box Table Picture Sealed Script Fetch Drawing".split()
+        body = "".join(f"<</Kind /{kind} /Style /S>>" for kind in kinds)
         check_costs(self, book_with(body, root=self.root()), 2 + 7 + 7)
 
     def test_a_font_is_reached_before_the_runs(self):

@@ -16,7 +16,8 @@ def facts(name=(), size=0, kind=None, kinds=(), pages=0, acts=(), depth=0):
 
 
 def drawn_facts(source, names=((), (97,), (97, 98), (42,))):
-    kinds = tuple(kind for kind in (source.choice(("",) + KINDS[:4]), "folio", "crate") if kind and source.random() < 0.6)
+    kinds = tuple(kind for kind in (source.choice(("",) + KINDS[:4]), "folio",
+                                    "crate") if kind and source.random() < 0.6)
     kind = kinds[0] if kinds else ""
     if kinds == ("folio", "crate"):
         kind = source.choice(kinds)
@@ -40,7 +41,8 @@ def drawn_body(source):
         return word, source.choice(ACT_KINDS)
     if word == "name":
         return word, drawn_pattern(source)
-    numbers = {"size": (0, 1, 10, 2147483647), "pages": (0, 1, 8, 9, 100), "acts": (0, 1, 2, 100), "depth": (0, 1, 4, 5)}
+    numbers = {"size": (0, 1, 10, 2147483647), "pages": (0, 1, 8, 9, 100), "acts": (0, 1, 2, 100),
+               "depth": (0, 1, 4, 5)}
     return word, source.choice(SIGNS), source.choice(numbers[word])
 
 
